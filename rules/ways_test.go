@@ -9,9 +9,14 @@ import (
 
 // ways are those of the language's ways that a layer leans on, as far as a file's tree shows them.
 var ways = map[string][]string{
-	"edits": {"labelled continue", "append"},
-	"lexer": {"labelled continue", "table", "once", "map field", "function field", "rune"},
+	"edits":  {"labelled continue", "append"},
+	"lexer":  {"labelled continue", "table", "once", "map field", "function field", "rune"},
+	"parser": {"table", "panic", "defer", "recover", "fallthrough", "function parameter"},
+	"tree":   {"function literal", "yield"},
 }
+
+// words show a way by themselves.
+var words = []string{"append", "rune", "panic", "recover", "yield"}
 
 func TestWays(t *testing.T) {
 	found := map[string][]string{}
@@ -40,8 +45,17 @@ func waysOf(file *ast.File) []string {
 			if x.Tok == token.CONTINUE && x.Label != nil {
 				out = append(out, "labelled continue")
 			}
+			if x.Tok == token.FALLTHROUGH {
+				out = append(out, "fallthrough")
+			}
+		case *ast.DeferStmt:
+			out = append(out, "defer")
+		case *ast.FuncLit:
+			out = append(out, "function literal")
+		case *ast.FuncType:
+			out = append(out, wayOfParameters(x)...)
 		case *ast.Ident:
-			if x.Name == "append" || x.Name == "rune" {
+			if slices.Contains(words, x.Name) {
 				out = append(out, x.Name)
 			}
 		case *ast.Field:
@@ -50,6 +64,15 @@ func waysOf(file *ast.File) []string {
 		return true
 	})
 	return out
+}
+
+func wayOfParameters(f *ast.FuncType) []string {
+	for _, p := range f.Params.List {
+		if _, ok := p.Type.(*ast.FuncType); ok {
+			return []string{"function parameter"}
+		}
+	}
+	return nil
 }
 
 func wayOfField(f *ast.Field) []string {
