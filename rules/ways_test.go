@@ -13,6 +13,8 @@ var ways = map[string][]string{
 	"lexer":  {"labelled continue", "table", "once", "map field", "function field", "rune"},
 	"parser": {"table", "panic", "defer", "recover", "fallthrough", "function parameter"},
 	"tree":   {"function literal", "yield"},
+	"format": {"embedded field", "map of functions"},
+	"graphs": {"type parameter", "function that calls itself"},
 }
 
 // words show a way by themselves.
@@ -54,6 +56,12 @@ func waysOf(file *ast.File) []string {
 			out = append(out, "function literal")
 		case *ast.FuncType:
 			out = append(out, wayOfParameters(x)...)
+		case *ast.MapType:
+			out = append(out, wayOfMap(x, file)...)
+		case *ast.StructType:
+			out = append(out, wayOfStruct(x)...)
+		case *ast.AssignStmt:
+			out = append(out, wayOfAssignment(x)...)
 		case *ast.Ident:
 			if slices.Contains(words, x.Name) {
 				out = append(out, x.Name)
@@ -66,7 +74,62 @@ func waysOf(file *ast.File) []string {
 	return out
 }
 
+// wayOfMap tells of functions that are looked up, of a type that is written or named in the same file.
+func wayOfMap(m *ast.MapType, file *ast.File) []string {
+	var out []string
+	ast.Inspect(file, func(n ast.Node) bool {
+		named, ok := n.(*ast.TypeSpec)
+		if of, same := m.Value.(*ast.Ident); ok && same && named.Name.Name == of.Name {
+			if _, ok := named.Type.(*ast.FuncType); ok {
+				out = append(out, "map of functions")
+			}
+		}
+		return true
+	})
+	if _, ok := m.Value.(*ast.FuncType); ok {
+		out = append(out, "map of functions")
+	}
+	return out
+}
+
+// wayOfStruct tells of fields without a name of their own.
+func wayOfStruct(s *ast.StructType) []string {
+	for _, f := range s.Fields.List {
+		if len(f.Names) == 0 {
+			return []string{"embedded field"}
+		}
+	}
+	return nil
+}
+
+// wayOfAssignment tells of a function that is assigned to the name by which it calls itself.
+func wayOfAssignment(a *ast.AssignStmt) []string {
+	var out []string
+	for i, right := range a.Rhs {
+		f, ok := right.(*ast.FuncLit)
+		if !ok || i >= len(a.Lhs) {
+			continue
+		}
+		name, ok := a.Lhs[i].(*ast.Ident)
+		if !ok {
+			continue
+		}
+		ast.Inspect(f.Body, func(n ast.Node) bool {
+			if called, ok := n.(*ast.CallExpr); ok {
+				if of, ok := called.Fun.(*ast.Ident); ok && of.Name == name.Name {
+					out = append(out, "function that calls itself")
+				}
+			}
+			return true
+		})
+	}
+	return out
+}
+
 func wayOfParameters(f *ast.FuncType) []string {
+	if f.TypeParams != nil {
+		return []string{"type parameter"}
+	}
 	for _, p := range f.Params.List {
 		if _, ok := p.Type.(*ast.FuncType); ok {
 			return []string{"function parameter"}
