@@ -149,7 +149,7 @@ func TestVariables(t *testing.T) {
 					t.Errorf("%s: a variable without a value of its own", s.where(v))
 				}
 				for _, value := range v.Values {
-					if why := wrongTable(value); why != "" && !isErrorsNew(value) {
+					if why := wrongTable(value); why != "" && !isCallOf(value, "errors", "New") && !isStartUp(s.folder, value) {
 						t.Errorf("%s: %s", s.where(value), why)
 					}
 				}
@@ -187,17 +187,23 @@ func wrongTable(value ast.Expr) string {
 	return why
 }
 
-func isErrorsNew(value ast.Expr) bool {
+// isStartUp tells whether a value is made by a call at the start where the document asks for it: the bounds of constants.
+func isStartUp(folder string, value ast.Expr) bool {
+	return folder == "consts" && isCallOf(value, "big", "NewInt")
+}
+
+// isCallOf tells whether a value is a call, with one argument, of a package's function.
+func isCallOf(value ast.Expr, pack, name string) bool {
 	call, ok := value.(*ast.CallExpr)
 	if !ok || len(call.Args) != 1 {
 		return false
 	}
 	f, ok := call.Fun.(*ast.SelectorExpr)
-	if !ok || f.Sel.Name != "New" {
+	if !ok || f.Sel.Name != name {
 		return false
 	}
 	of, ok := f.X.(*ast.Ident)
-	return ok && of.Name == "errors"
+	return ok && of.Name == pack
 }
 
 func TestLengths(t *testing.T) {

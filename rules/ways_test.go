@@ -9,16 +9,18 @@ import (
 
 // ways are those of the language's ways that a layer leans on, as far as a file's tree shows them.
 var ways = map[string][]string{
-	"edits":  {"labelled continue", "append"},
-	"lexer":  {"labelled continue", "table", "once", "map field", "function field", "rune"},
-	"parser": {"table", "panic", "defer", "recover", "fallthrough", "function parameter"},
-	"tree":   {"function literal", "yield"},
-	"format": {"embedded field", "map of functions"},
-	"graphs": {"type parameter", "function that calls itself"},
+	"edits":   {"labelled continue", "append"},
+	"lexer":   {"labelled continue", "table", "once", "map field", "function field", "rune"},
+	"parser":  {"table", "panic", "defer", "recover", "fallthrough", "function parameter"},
+	"tree":    {"function literal", "yield"},
+	"format":  {"embedded field", "map of functions"},
+	"graphs":  {"type parameter", "function that calls itself"},
+	"modules": {"map field", "Sort"},
+	"consts":  {"start-up", "table", "fallthrough", "big"},
 }
 
 // words show a way by themselves.
-var words = []string{"append", "rune", "panic", "recover", "yield"}
+var words = []string{"append", "rune", "panic", "recover", "yield", "Sort", "big"}
 
 func TestWays(t *testing.T) {
 	found := map[string][]string{}
@@ -37,8 +39,12 @@ func TestWays(t *testing.T) {
 func waysOf(file *ast.File) []string {
 	var out []string
 	for _, d := range file.Decls {
-		if group, ok := d.(*ast.GenDecl); ok && group.Tok == token.VAR {
-			out = append(out, "table")
+		group, ok := d.(*ast.GenDecl)
+		if !ok || group.Tok != token.VAR {
+			continue
+		}
+		for _, spec := range group.Specs {
+			out = append(out, waysOfVariable(spec.(*ast.ValueSpec))...)
 		}
 	}
 	ast.Inspect(file, func(n ast.Node) bool {
@@ -71,6 +77,20 @@ func waysOf(file *ast.File) []string {
 		}
 		return true
 	})
+	return out
+}
+
+// waysOfVariable tells of variables at package level by what they begin with.
+func waysOfVariable(v *ast.ValueSpec) []string {
+	var out []string
+	for _, value := range v.Values {
+		switch value.(type) {
+		case *ast.CompositeLit:
+			out = append(out, "table")
+		case *ast.CallExpr:
+			out = append(out, "start-up")
+		}
+	}
 	return out
 }
 
