@@ -17,15 +17,20 @@ var ways = map[string][]string{
 	"graphs":  {"type parameter", "function that calls itself"},
 	"modules": {"map field", "Sort"},
 	"consts":  {"start-up", "table", "fallthrough", "big"},
+	"scope":   {"map keyed by a struct", "pointer to its own kind", "Sorted"},
+	"types":   {"map keyed by a struct", "map of slices", "labelled break", "Sort", "SortFunc"},
 }
 
 // words show a way by themselves.
-var words = []string{"append", "rune", "panic", "recover", "yield", "Sort", "big"}
+var words = []string{"append", "rune", "panic", "recover", "yield", "Sort", "SortFunc", "Sorted", "big"}
 
 func TestWays(t *testing.T) {
-	found := map[string][]string{}
+	found, structs := map[string][]string{}, map[string][]string{}
 	for _, s := range sources(t) {
-		found[s.folder] = append(found[s.folder], waysOf(s.tree)...)
+		structs[s.folder] = append(structs[s.folder], structsOf(s.tree)...)
+	}
+	for _, s := range sources(t) {
+		found[s.folder] = append(found[s.folder], waysOf(s.tree, structs[s.folder])...)
 	}
 	for layer, wanted := range ways {
 		for _, way := range wanted {
@@ -36,7 +41,22 @@ func TestWays(t *testing.T) {
 	}
 }
 
-func waysOf(file *ast.File) []string {
+// structsOf are the names of the struct types of a file.
+func structsOf(file *ast.File) []string {
+	var out []string
+	ast.Inspect(file, func(n ast.Node) bool {
+		if named, ok := n.(*ast.TypeSpec); ok {
+			if _, ok := named.Type.(*ast.StructType); ok {
+				out = append(out, named.Name.Name)
+			}
+		}
+		return true
+	})
+	return out
+}
+
+// waysOf are the ways of a file of a package that has these struct types.
+func waysOf(file *ast.File, structs []string) []string {
 	var out []string
 	for _, d := range file.Decls {
 		group, ok := d.(*ast.GenDecl)
@@ -53,6 +73,9 @@ func waysOf(file *ast.File) []string {
 			if x.Tok == token.CONTINUE && x.Label != nil {
 				out = append(out, "labelled continue")
 			}
+			if x.Tok == token.BREAK && x.Label != nil {
+				out = append(out, "labelled break")
+			}
 			if x.Tok == token.FALLTHROUGH {
 				out = append(out, "fallthrough")
 			}
@@ -64,6 +87,9 @@ func waysOf(file *ast.File) []string {
 			out = append(out, wayOfParameters(x)...)
 		case *ast.MapType:
 			out = append(out, wayOfMap(x, file)...)
+			out = append(out, wayOfKeys(x, structs)...)
+		case *ast.TypeSpec:
+			out = append(out, wayOfType(x)...)
 		case *ast.StructType:
 			out = append(out, wayOfStruct(x)...)
 		case *ast.AssignStmt:
@@ -110,6 +136,34 @@ func wayOfMap(m *ast.MapType, file *ast.File) []string {
 		out = append(out, "map of functions")
 	}
 	return out
+}
+
+// wayOfKeys tells of maps by their keys, and of those whose values are lists.
+func wayOfKeys(m *ast.MapType, structs []string) []string {
+	var out []string
+	if of, ok := m.Key.(*ast.Ident); ok && slices.Contains(structs, of.Name) {
+		out = append(out, "map keyed by a struct")
+	}
+	if list, ok := m.Value.(*ast.ArrayType); ok && list.Len == nil {
+		out = append(out, "map of slices")
+	}
+	return out
+}
+
+// wayOfType tells of structs that point to others of their kind.
+func wayOfType(named *ast.TypeSpec) []string {
+	s, ok := named.Type.(*ast.StructType)
+	if !ok {
+		return nil
+	}
+	for _, f := range s.Fields.List {
+		if star, ok := f.Type.(*ast.StarExpr); ok {
+			if of, ok := star.X.(*ast.Ident); ok && of.Name == named.Name.Name {
+				return []string{"pointer to its own kind"}
+			}
+		}
+	}
+	return nil
 }
 
 // wayOfStruct tells of fields without a name of their own.
