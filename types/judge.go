@@ -72,21 +72,14 @@ func (m *maker) beneath(id int) int {
 
 // settleEmbeds leaves of what an interface type embeds the interface types alone.
 func (m *maker) settleEmbeds(s *spec) {
-	if s.kind != api.NodeInterface {
-		return
+	if s.kind == api.NodeInterface {
+		s.embeds = slices.DeleteFunc(s.embeds, func(e embed) bool { return m.face(e.to.id) == nil })
 	}
-	var faces []embed
-	for _, e := range s.embeds {
-		if face := m.face(e.to.id); face != nil {
-			faces = append(faces, embed{-1, face})
-		}
-	}
-	s.embeds = faces
 }
 
-// face is the interface type beneath a type; nil: there is none.
+// face is the TypeSpec of an interface type; nil: the type is none, even if one lies beneath it.
 func (m *maker) face(id int) *spec {
-	if s := m.declared(m.beneath(id)); s != nil && s.kind == api.NodeInterface {
+	if s := m.declared(id); s != nil && s.kind == api.NodeInterface {
 		return s
 	}
 	return nil
@@ -186,7 +179,7 @@ func (m *maker) mayBeEmbedded(in api.NodeKind, id int) bool {
 	if m.declared(of) == nil || m.isPointer(m.beneath(of)) {
 		return false
 	}
-	return of == id || m.face(of) == nil
+	return of == id || m.face(m.beneath(of)) == nil
 }
 
 // judgeMethod looks at a receiver; if it may be, the method is its type's member.

@@ -212,6 +212,12 @@ func (w *told) isBeneath(text string, kind api.NodeKind) bool {
 	return s != nil && w.isBody(*s, kind)
 }
 
+// isFace tells whether a type is an interface type itself.
+func (w *told) isFace(text string) bool {
+	s := w.specOf(text)
+	return s != nil && w.isBody(*s, api.NodeInterface)
+}
+
 func isPointer(text string) bool { return strings.HasPrefix(text, "*") }
 
 // needs are the TypeSpecs that one needs, in one of the two ways.
@@ -362,7 +368,7 @@ func (w *told) judge(g wordPage) {
 
 func (w *told) mayEmbed(in api.NodeKind, text string) bool {
 	if in == api.NodeInterface {
-		return w.isBeneath(text, api.NodeInterface)
+		return w.isFace(text)
 	}
 	of := strings.TrimPrefix(text, "*")
 	if w.specOf(of) == nil || isPointer(w.under(of)) {
@@ -377,7 +383,7 @@ func (w *told) mayReceive(g wordPage, n int) bool {
 	}
 	text := w.text(g, n)
 	s := w.specOf(text)
-	return g.kind(n) == api.NodeName && s != nil && w.p.Pack(s.file) == w.p.Pack(g.number) && !w.isBeneath(text, api.NodeInterface) && !isPointer(w.under(text))
+	return g.kind(n) == api.NodeName && s != nil && w.p.Pack(s.file) == w.p.Pack(g.number) && !w.isFace(text) && !isPointer(w.under(text))
 }
 
 // own are the own members of a TypeSpec, in the order of declarations.
@@ -461,7 +467,7 @@ func (w *told) twice(pack int) {
 				more = []int{d}
 			}
 			if g.kind(k) == api.NodeEmbed {
-				more = w.faceMethods(w.under(w.text(g, g.kid(k, 0))))
+				more = w.faceMethods(w.text(g, g.kid(k, 0)))
 			}
 			for _, d := range more {
 				all = append(all, d)
@@ -483,7 +489,7 @@ func (w *told) faceMethods(text string) []int {
 	g, n := w.right(*s)
 	for _, k := range g.kids(n) {
 		if g.kind(k) == api.NodeEmbed {
-			out = append(out, w.faceMethods(w.under(w.text(g, g.kid(k, 0))))...)
+			out = append(out, w.faceMethods(w.text(g, g.kid(k, 0)))...)
 		}
 	}
 	slices.Sort(out)
