@@ -106,6 +106,15 @@ func (t *Table) Met(id int, name string) []int {
 	return slices.Compact(out)
 }
 
+// Every are all methods of a name that an interface type has, its own and those of all that it embeds, by number.
+func (t *Table) Every(id int, name string) []int {
+	s := t.declared(id)
+	if s == nil || s.kind != api.NodeInterface {
+		return nil
+	}
+	return s.named(name)
+}
+
 // Methods is a type's method set: declarations, by name.
 func (t *Table) Methods(id int) []int {
 	s, pointed := t.holder(id)

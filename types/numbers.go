@@ -3,6 +3,8 @@ package types
 import (
 	"slices"
 	"sync"
+
+	"moniker/api"
 )
 
 // form is how a type is made.
@@ -16,6 +18,9 @@ const (
 	isMap
 	isFunc
 )
+
+// nodeForms are the kinds of nodes by which types are written that are not declared.
+var nodeForms = [...]api.NodeKind{isPlain: api.NodeName, isPointer: api.NodeStar, isSlice: api.NodeSliceOf, isMap: api.NodeMapOf, isFunc: api.NodeFuncOf}
 
 // shape is what a type is made of, so that identical types have one: the declaration of a plain or declared type; what a * or [] is of; a map's key and element; the rows of a func's parameters and results.
 type shape struct {

@@ -1,0 +1,183 @@
+package check
+
+import "moniker/api"
+
+// constSpec is a ConstSpec, with the expressions and the type that it has or takes from one ahead.
+type constSpec struct {
+	names, exprs []int
+	id           int   // the written type; noType: none
+	count        int64 // its iota
+	isOwn        bool  // the expressions are its own
+	from         int64 // the iota of the spec whose expressions they are
+}
+
+// varSpec is a VarSpec.
+type varSpec struct {
+	names, exprs []int
+	id           int
+}
+
+// owner is where a package-level constant or variable gets its value: by which Name of which spec; one of the two is nil.
+type owner struct {
+	in      *sheet
+	number  int
+	of      *constSpec
+	on      *varSpec
+	isAsked bool
+}
+
+// own notes whose values the Names of a package-level spec get.
+func (c *checker) own(h *sheet, names []int, of *constSpec, on *varSpec) {
+	for i, n := range names {
+		if d := c.s.Makes(h.at(n)); d >= 0 {
+			c.owners[d] = &owner{h, i, of, on, false}
+		}
+	}
+}
+
+// asked is what a constant, variable or function is; of one at package level its value is looked at now, if it was not yet.
+func (c *checker) asked(decl int) operand {
+	if o := c.owners[decl]; o != nil && !o.isAsked {
+		o.isAsked = true
+		r := reader{checker: c, sheet: o.in}
+		if o.of != nil {
+			r.constant(o.of, o.number)
+		} else {
+			r.variable(o.on, o.number)
+		}
+	}
+	return c.things[decl]
+}
+
+// specs looks at the specs of a Const or Var.
+func (r reader) specs(n int) {
+	if r.kind(n) == api.NodeConst {
+		for _, x := range r.constSpecs(n) {
+			r.constSpec(x)
+		}
+		return
+	}
+	for _, spec := range r.kids(n) {
+		x := r.varSpec(spec)
+		r.assign(r.newOnes(x.names, x.id), x.exprs)
+	}
+}
+
+func (r reader) constSpecs(group int) []*constSpec {
+	var out []*constSpec
+	last := constSpec{id: noType}
+	for i, n := range r.kids(group) {
+		kids := r.kids(n)
+		x := last
+		x.names, x.count, x.isOwn = r.kids(kids[0]), int64(i), false
+		if exprs := r.kids(kids[2]); len(exprs) > 0 {
+			x.exprs, x.id, x.isOwn, x.from = exprs, r.t.Written(r.number, kids[1]), true, int64(i)
+		}
+		out = append(out, &x)
+		last = x
+	}
+	return out
+}
+
+func (r reader) varSpec(n int) *varSpec {
+	kids := r.kids(n)
+	return &varSpec{r.kids(kids[0]), r.kids(kids[2]), r.t.Written(r.number, kids[1])}
+}
+
+// once looks at an expression of a spec, which several may ask for.
+func (r reader) once(n int) operand {
+	x, ok := r.values[r.spot(n)]
+	if !ok {
+		r.values[r.spot(n)] = operand{mode: isUntyped} // one that needs itself has no type
+		x = r.expr(n)
+		r.values[r.spot(n)] = x
+	}
+	return x
+}
+
+// constSpec looks at a ConstSpec.
+func (r reader) constSpec(x *constSpec) {
+	if len(x.exprs) == 0 {
+		r.settle(r.refuse(api.ErrConst, x.names[0]))
+		return
+	}
+	r.count = x.from
+	var all []operand
+	for _, e := range x.exprs {
+		all = append(all, r.once(e))
+	}
+	if len(x.exprs) == len(x.names) {
+		for i := range x.names {
+			r.constant(x, i)
+		}
+	} else if settled(all...) == nil {
+		r.settle(r.refuse(api.ErrCount, x.names[0]))
+	}
+}
+
+// constant finds what a Name of a ConstSpec is.
+func (r reader) constant(x *constSpec, number int) {
+	if len(x.exprs) != len(x.names) {
+		return
+	}
+	e, name := x.exprs[number], x.names[number]
+	r.count = x.from
+	val := r.once(e)
+	if err := r.isConstant(e, val, x.id); err != nil {
+		r.gaveUp(err)
+		return
+	}
+	if !x.isOwn {
+		r.count, r.again = x.count, true
+		val = r.expr(e)
+		r.again = false
+		if val.mode != isValue {
+			r.settle(r.refuse(api.ErrConst, x.names[0]))
+			return
+		}
+	}
+	if x.id >= 0 {
+		val.id = x.id
+	}
+	r.make(name, val)
+}
+
+// isConstant asks that an expression of a ConstSpec is a constant, of the type that is written.
+func (r reader) isConstant(n int, x operand, id int) error {
+	if err := settled(x); err != nil {
+		return err
+	}
+	if err := r.one([]int{n}, x); err != nil {
+		return err
+	}
+	if !x.isConst() {
+		return r.refuse(api.ErrConst, n)
+	}
+	if id < 0 {
+		return nil
+	}
+	if r.sortOf(id) == api.SortNone {
+		return r.refuse(api.ErrAssign, n)
+	}
+	return r.give(n, x, id, api.ErrAssign)
+}
+
+// make notes what the Name that declares a constant or variable is.
+func (r reader) make(name int, x operand) {
+	if d := r.s.Makes(r.at(name)); d >= 0 {
+		r.things[d] = x
+		r.known[r.spot(name)] = fact{id: x.typeOf()}
+	}
+}
+
+// variable finds what a Name of a VarSpec is.
+func (r reader) variable(x *varSpec, number int) {
+	targets := r.newOnes(x.names, x.id)
+	switch {
+	case x.id >= 0:
+	case len(x.exprs) == len(x.names):
+		r.value(targets[number], x.exprs[number])
+	default:
+		r.assign(targets, x.exprs)
+	}
+}
