@@ -1,11 +1,6 @@
 package check
 
-import (
-	"slices"
-
-	"moniker/api"
-	"moniker/scope"
-)
+import "moniker/api"
 
 // call is a Call: its arguments' nodes, what they are, the token of its "..." (-1: it has none).
 type call struct {
@@ -19,15 +14,15 @@ func (r reader) call(n int) (operand, error) {
 	kids := r.kids(n)
 	c := call{node: n, nodes: r.kids(kids[1])}
 	c.dots = r.dotsOf(c)
-	if f, ok := r.nativeOf(kids[0]); ok {
+	if name := r.nativeName(kids[0]); name != "" {
 		c.args = r.exprs(c.nodes)
 		if err := settled(c.args...); err != nil {
 			return operand{}, err
 		}
-		if !f.takesDots && c.dots >= 0 {
+		if c.dots >= 0 && name != "append" {
 			return operand{}, &refusal{api.ErrUse, c.dots}
 		}
-		return f.rule(r, c)
+		return r.functions[name](r, c)
 	}
 	x := r.expr(kids[0])
 	c.args = r.exprs(c.nodes)
@@ -59,17 +54,16 @@ func (r reader) dotsOf(c call) int {
 	return -1
 }
 
-// nativeOf is the universe function that a Call's first kid is bound to.
-func (r reader) nativeOf(n int) (native, bool) {
+// nativeName is the name of the universe function that a Call's first kid is bound to; "": it is bound to none.
+func (r reader) nativeName(n int) string {
 	if r.kind(n) != api.NodeName {
-		return native{}, false
+		return ""
 	}
 	d := r.s.Bound(r.at(n))
-	if d < 0 || r.decls[d].Kind != api.DeclUniverse {
-		return native{}, false
+	if d < 0 || r.decls[d].Kind != api.DeclUniverse || r.functions[r.decls[d].Name] == nil {
+		return ""
 	}
-	f, ok := r.functions[r.decls[d].Name]
-	return f, ok
+	return r.decls[d].Name
 }
 
 // convert is a Call of a type.
@@ -113,7 +107,7 @@ func (r reader) isCallOfSeveral(n int, x operand) bool {
 // areAssignable asks that each of some types is assignable to its like: ErrAssign at a node.
 func (r reader) areAssignable(n int, from, to []int) error {
 	for i, id := range from {
-		if !r.t.Assignable(id, to[i]) {
+		if !r.isAssignable(id, to[i]) {
 			return r.refuse(api.ErrAssign, n)
 		}
 	}
@@ -164,9 +158,9 @@ func (r reader) isIdle(n int) bool {
 	if r.t.Written(r.number, first) >= 0 {
 		return true
 	}
-	if r.kind(first) != api.NodeName {
-		return false
+	switch r.nativeName(first) {
+	case "append", "len", "make", "new":
+		return true
 	}
-	idle := []int{scope.Universe("append"), scope.Universe("len"), scope.Universe("make"), scope.Universe("new")}
-	return slices.Contains(idle, r.s.Bound(r.at(first)))
+	return false
 }

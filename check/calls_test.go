@@ -73,6 +73,9 @@ func TestNatives(t *testing.T) {
 		{`panic("a"); panic(i); panic(t); panic(u); panic('a')`, api.OK}, {"@panic()", api.ErrCount}, {"@panic(1, 2)", api.ErrCount}, {"panic(@none())", api.ErrValue}, {"panic(@int)", api.ErrValue}, {"panic(@nil)", api.ErrOperand}, {"panic(@true)", api.ErrOperand}, {"panic(@yes)", api.ErrOperand}, {"panic(@s)", api.ErrOperand}, {"panic(@any)", api.ErrOperand}, {"_ = @panic(1)", api.ErrValue},
 		{`print(); print(1, "a", true, i, t, u, by, K, 1 == 2)`, api.OK}, {"print(@none())", api.ErrValue}, {"print(nil, @int)", api.ErrValue}, {"print(1, @two())", api.ErrValue}, {"print(@nil)", api.ErrOperand}, {"print(1, @s, nil)", api.ErrOperand}, {"print(@l)", api.ErrOperand}, {"print(@p)", api.ErrOperand}, {"print(@face)", api.ErrOperand}, {"print(@none)", api.ErrOperand}, {"_ = @print()", api.ErrValue},
 	})
+	refuse(t, []wrong{
+		{"_ = @append[0](1)", api.ErrUse}, {"@len.x()", api.ErrUse}, {"_ = bool(i == j); _ = bool(by); _ = B(yes); const c = bool(true); print(c)", api.OK}, {"_ = bool(@1)", api.ErrConvert},
+	})
 }
 
 // TestLiterals: FuncLit and Composite of 12.3.
@@ -86,5 +89,8 @@ func TestLiterals(t *testing.T) {
 		{`_ = []int{}; _ = L{1, i, 'a'}; _ = []int{3: 1, 2, 2: 4, 0: 5}; _ = []I{t, nil, &e}; _ = []Any{1, "a", s}; _ = []*S{p, nil}; _ = []int{KT: 1}; _ = []int{1048576: 1}; _ = []int{'a': 1}; _ = [][]int{[]int{1}, nil}`, api.OK},
 		{"_ = []int{3: 1, 2, @4: 5}", api.ErrTwice}, {"_ = []int{1: 1, 0: 2, @3}", api.ErrTwice}, {"_ = []int{0, @0: none()}", api.ErrTwice}, {"_ = []int{@none(): 1}", api.ErrValue}, {"_ = []int{@int: 1}", api.ErrValue}, {"_ = []int{@i: 1}", api.ErrOperand}, {`_ = []int{@"a": 1}`, api.ErrOperand}, {"_ = []int{@true: 1}", api.ErrOperand}, {"_ = []int{@nil: 1}", api.ErrOperand}, {"_ = []int{@-1: 1}", api.ErrConst}, {"_ = []int{@1048577: 1}", api.ErrConst}, {"_ = []int{1048576: 1, @2}", api.ErrConst}, {"_ = []int{1048576: 1, 5: 2, 3}", api.OK}, {"_ = []int{@one(): 1}", api.ErrOperand}, {"_ = []int{1, @none()}", api.ErrValue}, {"_ = []int{0: @int}", api.ErrValue}, {`_ = []int{1, @"a", nil}`, api.ErrAssign}, {"_ = []int{@t}", api.ErrAssign}, {"_ = []T{t, 1, @i}", api.ErrAssign}, {"_ = []int{2: @nil}", api.ErrAssign}, {"_ = []I{@1}", api.ErrAssign}, {"_ = []I{@s}", api.ErrAssign},
 		{`_ = M{}; _ = M{"a": s, str: S{}}; _ = map[T]int{1: 1, t: 2, KT: 3}; _ = map[string]int{str: 1, str: 2}; _ = map[bool]int{true: 1, false: 2, yes: 3}; _ = map[int]Any{1: nil, 2: 3}`, api.OK}, {"_ = @M{s}", api.ErrForm}, {`_ = @map[string]int{"a": 1, 2}`, api.ErrForm}, {"_ = M{@none(): s}", api.ErrValue}, {"_ = M{@int: s}", api.ErrValue}, {"_ = M{@1: none()}", api.ErrAssign}, {"_ = M{@u: s}", api.ErrAssign}, {"_ = M{@nil: s}", api.ErrAssign}, {`_ = M{"a": s, @"a": none()}`, api.ErrTwice}, {"_ = map[T]int{4: 1, @KT: 2}", api.ErrTwice}, {"_ = map[int]int{1: 1, @2 - 1: 1}", api.ErrTwice}, {"_ = map[bool]int{true: 1, @!false: 1}", api.ErrTwice}, {"_ = M{str: @none()}", api.ErrValue}, {"_ = M{str: @1}", api.ErrAssign}, {"_ = M{str: @nil}", api.ErrAssign}, {"_ = map[string]int{str: @str, nil: 1}", api.ErrAssign},
+	})
+	refuse(t, []wrong{
+		{"a := s; _ = S{@a.a: 1}", api.ErrMember}, {"_ = []bool{@1}", api.ErrAssign}, {"_ = map[bool]int{@1: 1}", api.ErrAssign},
 	})
 }

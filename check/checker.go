@@ -27,6 +27,7 @@ type checker struct {
 	clauses   map[int][]clause  // by the declaration of a Match's Name: its types
 	values    map[spot]operand  // what the expressions of ConstSpecs and VarSpecs are
 	functions map[string]native // the universe's
+	answers   map[question]int
 	queue     []literal
 	fault     api.Fault // the first one of the package that is looked at
 }
@@ -74,7 +75,7 @@ func newChecker(p *modules.Program, s *scope.Scopes, t *types.Table) *checker {
 		Checks: &Checks{table: t, decls: decls, known: map[spot]fact{}, found: map[api.Place]member{}},
 		p:      p, s: s, t: t, packs: p.Packs(), order: p.Order(),
 		things: make([]operand, len(decls)), owners: make([]*owner, len(decls)), starred: make([]bool, len(decls)), bodies: make([]spot, len(decls)),
-		clauses: map[int][]clause{}, values: map[spot]operand{}, functions: natives(),
+		clauses: map[int][]clause{}, values: map[spot]operand{}, functions: natives(), answers: map[question]int{},
 	}
 	for d := range c.things {
 		c.things[d].mode = isUntyped

@@ -1,9 +1,6 @@
 package check
 
-import (
-	"moniker/api"
-	"moniker/scope"
-)
+import "moniker/api"
 
 // choice is a Switch whose cases are looked at: what they are compared with, and the constants that they had.
 type choice struct {
@@ -99,7 +96,7 @@ func (r reader) match(name, n, clauses int) {
 	}
 	list := r.kids(clauses)
 	r.defaults(list)
-	met := map[int]int{} // nil stands there as no type
+	met := map[int]int{} // by type; nil has none
 	for _, clause := range list {
 		kids := r.kids(clause)
 		block := kids[len(kids)-1]
@@ -141,14 +138,10 @@ func (r reader) isFace(n int, x operand) error {
 	return nil
 }
 
-// caseType looks at a type, or nil, of a Case of a Match.
+// caseType looks at a type of a Case of a Match, or at nil, which is none.
 func (r reader) caseType(n, face int, met map[int]int) error {
 	id := r.t.Written(r.number, n)
-	isNil := id < 0 && r.kind(n) == api.NodeName && r.s.Bound(r.at(n)) == scope.Universe("nil")
-	if id < 0 && !isNil {
-		return r.refuse(api.ErrType, n)
-	}
-	if !isNil && face >= 0 {
+	if id >= 0 && face >= 0 {
 		if err := r.mayMeet(n, id, face); err != nil {
 			return err
 		}

@@ -223,7 +223,7 @@ func (r reader) assert(n int) (operand, error) {
 
 // mayMeet asks that a value of an interface type may be of a type: ErrAssert at the type.
 func (r reader) mayMeet(n, id, face int) error {
-	if r.t.Form(id) != api.NodeInterface && !r.t.Satisfies(id, face) {
+	if r.t.Form(id) != api.NodeInterface && !r.satisfies(id, face) {
 		return r.refuse(api.ErrAssert, n)
 	}
 	return nil

@@ -2,23 +2,20 @@ package check
 
 import "moniker/api"
 
-// native is a function of the universe: its rule, and whether it may be called with "...".
-type native struct {
-	rule      func(reader, call) (operand, error)
-	takesDots bool
-}
+// native is the rule of a function of the universe.
+type native func(reader, call) (operand, error)
 
 // natives are the functions of the universe by their names.
 func natives() map[string]native {
 	return map[string]native{
-		"append": {reader.nativeAppend, true},
-		"copy":   {reader.nativeCopy, false},
-		"delete": {reader.nativeDelete, false},
-		"len":    {reader.nativeLen, false},
-		"make":   {reader.nativeMake, false},
-		"new":    {reader.nativeNew, false},
-		"panic":  {reader.nativePanic, false},
-		"print":  {reader.nativePrint, false},
+		"append": reader.nativeAppend,
+		"copy":   reader.nativeCopy,
+		"delete": reader.nativeDelete,
+		"len":    reader.nativeLen,
+		"make":   reader.nativeMake,
+		"new":    reader.nativeNew,
+		"panic":  reader.nativePanic,
+		"print":  reader.nativePrint,
 	}
 }
 

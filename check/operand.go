@@ -137,12 +137,43 @@ func (r reader) fits(x operand, to int) bool {
 	case x.isNil:
 		return isFace || mayBeNil(r.t.Form(to))
 	case !x.isFree():
-		return r.t.Assignable(x.id, to)
+		return r.isAssignable(x.id, to)
 	case isFace:
-		return r.t.Satisfies(x.typeOf(), to)
+		return r.satisfies(x.typeOf(), to)
 	}
 	return r.sortOf(to) == x.val.Sort
 }
+
+// question is one that is asked of a table about two types, and may be asked again and again.
+type question struct {
+	isAssign bool
+	id, to   int
+}
+
+func (c *checker) isAssignable(id, to int) bool {
+	return c.answered(question{true, id, to}, c.t.Assignable)
+}
+
+func (c *checker) satisfies(id, to int) bool {
+	return c.answered(question{false, id, to}, c.t.Satisfies)
+}
+
+// answered is what was answered, or is now.
+func (c *checker) answered(q question, ask func(id, to int) bool) bool {
+	if c.answers[q] == 0 {
+		c.answers[q] = no
+		if ask(q.id, q.to) {
+			c.answers[q] = yes
+		}
+	}
+	return c.answers[q] == yes
+}
+
+// Answers to questions.
+const (
+	yes = 1 + iota
+	no
+)
 
 // mayBeNil tells whether nil is a value of types of a form that are no interface types.
 func mayBeNil(form api.NodeKind) bool {

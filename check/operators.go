@@ -121,7 +121,7 @@ func (p pair) compare() (operand, error) {
 	if p.left.isNil || p.right.isNil {
 		return valueOf(boolType), p.compareNil()
 	}
-	together := func(a, b int) bool { return p.t.Assignable(a, b) || p.t.Assignable(b, a) }
+	together := func(a, b int) bool { return p.isAssignable(a, b) || p.isAssignable(b, a) }
 	if _, err := p.mix(together); err != nil {
 		return operand{}, err
 	}

@@ -46,7 +46,7 @@ type found struct {
 // look finds what a Name is in a type or the * of one: ErrMember at the Name.
 func (r reader) look(id, name int) (found, error) {
 	out := found{in: id}
-	if !r.isDeclared(id) && r.t.Form(id) == api.NodeStar {
+	if r.t.Under(id) == id && r.t.Form(id) == api.NodeStar { // so it is not declared
 		out.in, out.isPointed = r.part(id, 0), true
 		if form := r.t.Form(out.in); form == api.NodeInterface || form == api.NodeStar {
 			return out, r.refuse(api.ErrMember, name)
@@ -57,12 +57,6 @@ func (r reader) look(id, name int) (found, error) {
 		return out, r.refuse(api.ErrMember, name)
 	}
 	return out, nil
-}
-
-// isDeclared tells whether a type is declared: only such a one is not what lies beneath it, or is a struct or interface type.
-func (r reader) isDeclared(id int) bool {
-	form := r.t.Form(id)
-	return r.t.Under(id) != id || form == api.NodeStruct || form == api.NodeInterface
 }
 
 // isMethod tells whether a find is a method, and no field.

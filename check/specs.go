@@ -1,14 +1,18 @@
 package check
 
-import "moniker/api"
+import (
+	"moniker/api"
+	"moniker/scope"
+)
 
 // constSpec is a ConstSpec, with the expressions and the type that it has or takes from one ahead.
 type constSpec struct {
 	names, exprs []int
-	id           int   // the written type; noType: none
-	count        int64 // its iota
-	isOwn        bool  // the expressions are its own
-	from         int64 // the iota of the spec whose expressions they are
+	id           int    // the written type; noType: none
+	count        int64  // its iota
+	isOwn        bool   // the expressions are its own
+	counts       []bool // by an expression: iota stands in it, so that it is another one where it is read anew
+	from         int64  // the iota of the spec whose expressions they are
 }
 
 // varSpec is a VarSpec.
@@ -72,6 +76,10 @@ func (r reader) constSpecs(group int) []*constSpec {
 		x.names, x.count, x.isOwn = r.kids(kids[0]), int64(i), false
 		if exprs := r.kids(kids[2]); len(exprs) > 0 {
 			x.exprs, x.id, x.isOwn, x.from = exprs, r.t.Written(r.number, kids[1]), true, int64(i)
+			x.counts = nil
+			for _, e := range exprs {
+				x.counts = append(x.counts, r.hasIota(e))
+			}
 		}
 		out = append(out, &x)
 		last = x
@@ -127,7 +135,7 @@ func (r reader) constant(x *constSpec, number int) {
 		r.gaveUp(err)
 		return
 	}
-	if !x.isOwn {
+	if !x.isOwn && x.counts[number] {
 		r.count, r.again = x.count, true
 		val = r.expr(e)
 		r.again = false
@@ -140,6 +148,15 @@ func (r reader) constant(x *constSpec, number int) {
 		val.id = x.id
 	}
 	r.make(name, val)
+}
+
+func (r reader) hasIota(node int) bool {
+	for n := node; n < r.behind(node); n++ {
+		if r.kind(n) == api.NodeName && r.s.Bound(r.at(n)) == scope.Universe("iota") {
+			return true
+		}
+	}
+	return false
 }
 
 // isConstant asks that an expression of a ConstSpec is a constant, of the type that is written.

@@ -29,6 +29,12 @@ func TestConstSpecs(t *testing.T) {
 	refuseAll(t, []wrong{
 		{"func f() { }; const a = len(@f)", api.ErrOperand}, {"func f() { }; const a = @f", api.ErrConst}, {"const a = @func() int { return a }()", api.ErrConst}, {`const a = len(@func() int { return 1 + "a" }())`, api.ErrOperand}, {"const a = len(@func() int { return iota }())", api.ErrOperand},
 	})
+	refuse(t, []wrong{
+		{"const a bool = @1", api.ErrAssign}, {"const a bool = 1 < 2; var b bool = a; print(b)", api.OK}, {"const a bool = true; var b B = @a; print(b)", api.ErrAssign}, {"const ( a bool = 1 < 2; b ); var c B = @b; print(c)", api.ErrAssign},
+	})
+	refuseAll(t, []wrong{
+		{"var v = b; const @a, b = 1", api.ErrCount}, {"var v, w = a, b; const @a, b = 1, 2, 3", api.ErrCount}, {"var w = []int{b: 0, @2: 0}; const ( a = 5; b = iota + 1 )", api.ErrTwice}, {"var w = []int{c: 0, @3: 0}; const ( a = 5; b = iota + 1; c )", api.ErrTwice}, {"var w string = c; const ( a = 9223372036854775806 + iota; b; @c )", api.ErrConst},
+	})
 }
 
 // TestVarSpecs: VarSpec, Define and Assign with = of 12.4.
@@ -47,6 +53,9 @@ func TestVarSpecs(t *testing.T) {
 	refuseAll(t, []wrong{
 		{"var a, @b = f(b); func f(x int) (int, int) { return x, 2 }", api.ErrCycle}, {"var _ = a; var @a = b; var b = a", api.ErrCycle}, {"type S struct { a int }; var a = S{a: 1}", api.OK}, {"var @a = []int{a: 1}", api.ErrCycle}, {"type S struct { b int }; var a = S{b: b}; var b = 1", api.OK}, {"type S struct { a int }; var b S; var a = b.a", api.OK}, {"var a = func() int { return 1 }; var b = a()", api.OK}, {"var @a = func() int { return a() }", api.ErrCycle}, {"var @a = b(); var b = func() int { return a }", api.ErrCycle}, {"var a int; func f() { a := a; print(a) }", api.OK},
 	})
+	refuse(t, []wrong{
+		{"const c = 1; d, @c := 2, 3; print(d)", api.ErrPlace}, {"const c = 1; d, @c := 2; print(d)", api.ErrPlace}, {"i, @1 = 3", api.ErrPlace}, {"@a, b := m[\"x\"], 1, 2; print(a, b)", api.ErrCount}, {"@a, b := two(), 1, 2; print(a, b)", api.ErrCount}, {"var a bool; a = @1; print(a)", api.ErrAssign}, {"var a, b bool = @two(); print(a, b)", api.ErrAssign},
+	})
 }
 
 // TestStatements: the other statements of 12.4.
@@ -59,6 +68,9 @@ func TestStatements(t *testing.T) {
 		{`i++; t--; l[0]++; m["a"]--; s.a++; *pi++; (i)++`, api.OK}, {"@none()++", api.ErrValue}, {"@int++", api.ErrValue}, {"@1++", api.ErrPlace}, {"@one()++", api.ErrPlace}, {"@K--", api.ErrPlace}, {"@nil++", api.ErrPlace}, {"@str++", api.ErrOperand}, {"@yes--", api.ErrOperand}, {"@s++", api.ErrOperand}, {"@str[0]++", api.ErrPlace},
 		{"none(); one(); two(); take(1, 2); copy(l, l); print(); func() { }(); s.v(); f(1); panic(1)", api.OK}, {"@1", api.ErrUse}, {"@i", api.ErrUse}, {"@(none())", api.ErrUse}, {"@T(1)", api.ErrUse}, {"@(T)(1)", api.ErrUse}, {"@[]int(nil)", api.ErrUse}, {"@x.T(1)", api.ErrUse}, {"@i == j", api.ErrUse}, {"@s.v", api.ErrUse}, {"@int", api.ErrUse}, {"@append(l, 1)", api.ErrUse}, {"@len(str)", api.ErrUse}, {"@make(M)", api.ErrUse}, {"@new(int)", api.ErrUse}, {"len := none; len()", api.OK}, {"@func() { }", api.ErrUse}, {"L: @i; for { break L }", api.ErrUse}, {"if @i; true { }", api.ErrUse}, {`len(1 @+ "a")`, api.ErrMix},
 		{"if yes { }; if by { }; if true { } else if i == j { } else { }; for yes { }; for { break }; for ; by; { }; for i := 0; i < 3; i++ { }", api.OK}, {"if @none() { }", api.ErrValue}, {"if @int { }", api.ErrValue}, {"if @nil { }", api.ErrOperand}, {"if @1 { }", api.ErrOperand}, {"if @str { }", api.ErrOperand}, {"for @i { }", api.ErrOperand}, {"for ; @nil; { }", api.ErrOperand}, {"for @two() { }", api.ErrValue}, {"if true { } else if @i { }", api.ErrOperand}, {`if i := "a"; @i { }`, api.ErrOperand}, {`for @"a" { }`, api.ErrOperand},
+	})
+	refuse(t, []wrong{
+		{"for a := 0; a < 3; @str++ { }", api.ErrOperand}, {"for a := 1 @+ \"x\"; ; { print(a) }", api.ErrMix}, {"for ; ; { i = @str }", api.ErrAssign}, {"if a := 1 @+ \"x\"; true { print(a) }", api.ErrMix},
 	})
 }
 
@@ -82,6 +94,9 @@ func TestSwitches(t *testing.T) {
 	refuse(t, []wrong{
 		{"switch y := any.(type) { case int: print(y + 1); case string: print(y + \"a\"); case T: func() { y.m(); print(y @+ i) }() }", api.ErrMix}, {"switch y := any.(type) { case int, string: print(@y) }", api.ErrOperand}, {"switch y := any.(type) { case nil: print(@y) }", api.ErrOperand}, {"switch y := any.(type) { default: print(@y) }", api.ErrOperand}, {"switch y := any.(type) { case int: y, z := 2, 3; print(y, z) }", api.OK}, {"switch y := any.(type) { case int: y, z := @\"a\", 3; print(y, z) }", api.ErrAssign}, {"switch y := any.(type) { case string: switch y := any.(type) { case int: print(y + 1) }; print(y + \"a\") }", api.OK},
 		{"switch i { case 1: fallthrough; case 2: print(); fallthrough; default: }", api.OK}, {"switch i { case 1: @fallthrough }", api.ErrUse}, {"switch i { case 1: @fallthrough; print(); case 2: }", api.ErrUse}, {"switch i { case 1: @fallthrough; ; case 2: }", api.ErrUse}, {"switch i { case 1: { @fallthrough }; case 2: }", api.ErrUse}, {"switch i { case 1: if true { @fallthrough }; case 2: }", api.ErrUse}, {"switch i { case 1: L: @fallthrough; case 2: for { break L } }", api.ErrUse}, {"@fallthrough", api.ErrUse}, {"for { @fallthrough }", api.ErrUse}, {"switch any.(type) { case int: @fallthrough; default: }", api.ErrUse}, {"switch { default: fallthrough; case yes: }", api.OK}, {"switch { case yes: func() { @fallthrough }(); case by: }", api.ErrUse}, {"switch { case yes: fallthrough; case by: @fallthrough }", api.ErrUse},
+	})
+	refuse(t, []wrong{
+		{"switch a := 1 @+ \"x\"; { default: print(a) }", api.ErrMix}, {"switch a := 1 @+ \"x\"; y := any.(type) { default: print(a, y == nil) }", api.ErrMix}, {"switch any.(type) { case bool: case int, @bool: }", api.ErrTwice}, {"switch y := any.(type) { case bool: var a bool = y; print(a) }", api.OK}, {"switch face.(type) { case @bool: }", api.ErrAssert}, {"switch y := any.(type) { case int: func() { print(y + 1) }(); case string: func() { print(y + \"a\") }(); default: _ = y }", api.OK}, {"switch y := any.(type) { case int: func() { print(y @+ \"b\") }(); case string: _ = y }", api.ErrMix},
 	})
 }
 

@@ -37,6 +37,9 @@ func checkFiles(t *testing.T, p *modules.Program, given []api.File, want told) {
 			t.Fatalf("M3, M10: %q: %d", f, got)
 		}
 		for n, node := range x.Nodes {
+			if got, ok := p.Node(i, n); got != node || !ok {
+				t.Fatalf("M2: %q: node %d: %v", f, n, got)
+			}
 			number, ok := want.imported[i][node.First]
 			if !ok || node.Kind != api.NodeImportSpec {
 				number = -1
@@ -49,6 +52,9 @@ func checkFiles(t *testing.T, p *modules.Program, given []api.File, want told) {
 			word := f.Text[piece.From:piece.To]
 			if piece.Kind == api.TokBlanks || piece.Kind == api.TokNote || piece.Kind == api.TokAuto {
 				word = ""
+			}
+			if got, ok := p.Token(api.Place{File: i, Token: n}); got != piece || !ok {
+				t.Fatalf("M2: %q: piece %d: %v", f, n, got)
 			}
 			if got := p.Word(api.Place{File: i, Token: n}); got != word {
 				t.Fatalf("M5: %q: piece %d: %q, not %q", f, n, got, word)
@@ -80,6 +86,31 @@ func TestNowhere(t *testing.T) {
 			if p.Imported(f, n) != -1 || p.Word(api.Place{File: f, Token: n}) != "" {
 				t.Errorf("P7: file %d: node or token %d", f, n)
 			}
+		}
+	}
+}
+
+// noneAt asks that there is neither a node nor a piece of a number.
+func noneAt(t *testing.T, p *modules.Program, file, number int) {
+	t.Helper()
+	node, isNode := p.Node(file, number)
+	token, isToken := p.Token(api.Place{File: file, Token: number})
+	if isNode || isToken || node != (api.Node{}) || token != (api.Token{}) {
+		t.Errorf("P7: file %d: node %v, piece %v of number %d", file, node, token, number)
+	}
+}
+
+// TestNoNode: single nodes and pieces that there are none of (P1, P7).
+func TestNoNode(t *testing.T) {
+	p := loaded(t, source())
+	for _, n := range append(wrongNumbers, 4) {
+		noneAt(t, p, n, 0)
+		noneAt(t, nil, 0, n)
+		noneAt(t, nil, n, 0)
+	}
+	for f := range 4 {
+		for _, n := range append(wrongNumbers, max(len(p.Tokens(f)), len(p.Tree(f).Nodes))) {
+			noneAt(t, p, f, n)
 		}
 	}
 }

@@ -19,10 +19,12 @@ var ways = map[string][]string{
 	"consts":  {"start-up", "table", "fallthrough", "big"},
 	"scope":   {"map keyed by a struct", "pointer to its own kind", "Sorted"},
 	"types":   {"map keyed by a struct", "map of slices", "labelled break", "Sort", "SortFunc"},
+	"flow":    {"type switch", "labelled break", "labelled continue"},
+	"check":   {"error of its own", "As", "map keyed by a struct", "map of functions"},
 }
 
 // words show a way by themselves.
-var words = []string{"append", "rune", "panic", "recover", "yield", "Sort", "SortFunc", "Sorted", "big"}
+var words = []string{"append", "rune", "panic", "recover", "yield", "Sort", "SortFunc", "Sorted", "big", "As"}
 
 func TestWays(t *testing.T) {
 	found, structs := map[string][]string{}, map[string][]string{}
@@ -81,6 +83,12 @@ func waysOf(file *ast.File, structs []string) []string {
 			}
 		case *ast.DeferStmt:
 			out = append(out, "defer")
+		case *ast.TypeSwitchStmt:
+			out = append(out, "type switch")
+		case *ast.FuncDecl:
+			if x.Recv != nil && x.Name.Name == "Error" {
+				out = append(out, "error of its own")
+			}
 		case *ast.FuncLit:
 			out = append(out, "function literal")
 		case *ast.FuncType:

@@ -3,6 +3,8 @@ package types_test
 import (
 	"strings"
 	"testing"
+
+	"moniker/types"
 )
 
 // TestExampleMembers: examples 3, 4, 5 and 8.
@@ -131,5 +133,29 @@ func TestAssignable(t *testing.T) {
 	f, m := x.Func([]int{1}, []int{x.named("A")}), x.Map(1, x.named("A"))
 	if !x.Assignable(f, x.named("F")) || !x.Assignable(x.named("F"), f) || !x.Assignable(m, x.named("M")) || !x.Assignable(x.named("M"), m) || x.Assignable(f, m) || x.Assignable(x.Func([]int{1}, []int{1}), x.named("F")) {
 		t.Error("10.12: funcs and maps")
+	}
+}
+
+// TestEvery: all methods of one name of an interface type.
+func TestEvery(t *testing.T) {
+	x := made(t, "type J interface { m(); K }; type I interface { J; m(); k() }; type K interface { m(); n() }; type S struct { I; m int }; type A int; func (a A) m() { }")
+	for _, c := range []struct{ in, name, want string }{
+		{"I", "m", "J.m I.m K.m"}, {"I", "n", "K.n"}, {"I", "k", "I.k"}, {"J", "m", "J.m K.m"}, {"J", "k", ""}, {"K", "m", "K.m"}, {"S", "m", ""}, {"A", "m", ""}, {"I", "", ""}, {"I", "_", ""}, {"I", "J", ""},
+	} {
+		if got := x.owners(x.Every(x.named(c.in), c.name)...); got != c.want {
+			t.Errorf("Every(%s, %s) is %s, not %s", c.in, c.name, got, c.want)
+		}
+		if len(x.Every(x.Pointer(x.named(c.in)), c.name)) != 0 {
+			t.Errorf("Every(*%s, %s) is something", c.in, c.name)
+		}
+	}
+	var none *types.Table
+	if len(x.Every(-1, "m")) != 0 || len(x.Every(1, "m")) != 0 || len(none.Every(3, "m")) != 0 {
+		t.Error("P7: Every of no interface type")
+	}
+	l := x.Every(x.named("I"), "m")
+	l[0] = 99
+	if got := x.owners(x.Every(x.named("I"), "m")...); got != "J.m I.m K.m" {
+		t.Errorf("P4: %s", got)
 	}
 }

@@ -1,6 +1,7 @@
 package types_test
 
 import (
+	"math"
 	"slices"
 	"strconv"
 	"strings"
@@ -212,5 +213,32 @@ func TestNilTable(t *testing.T) {
 	d, way, many := x.Look(0, "a")
 	if x.Show(0) != "" || x.Named(0) != -1 || x.Written(0, 0) != -1 || x.Pointer(0) != -1 || x.Slice(0) != -1 || x.Map(0, 0) != -1 || x.Func(nil, nil) != -1 || x.Func([]int{0}, []int{1}) != -1 || x.Under(0) != -1 || len(one)+len(two) != 0 || d != -1 || len(way) != 0 || many || len(x.Met(0, "a")) != 0 || len(x.Methods(0)) != 0 || x.Of(0) != -1 || x.Satisfies(0, 0) || x.Assignable(0, 0) || x.Scopes() != nil {
 		t.Error("10.13: a nil Table answers something")
+	}
+}
+
+// TestForm: by which kind of node what lies beneath a type is written.
+func TestForm(t *testing.T) {
+	x := made(t, "type A int; type B A; type C []A; type D map[string]A; type E *A; type F func(); type S struct { }; type I interface { }; type P *S; type Q []I")
+	for name, want := range map[string]api.NodeKind{"A": api.NodeName, "B": api.NodeName, "C": api.NodeSliceOf, "D": api.NodeMapOf, "E": api.NodeStar, "F": api.NodeFuncOf, "S": api.NodeStruct, "I": api.NodeInterface, "P": api.NodeStar, "Q": api.NodeSliceOf} {
+		id := x.named(name)
+		if got := x.Form(id); got != want || x.Form(x.Under(id)) != want {
+			t.Errorf("%s is of form %d, not %d", name, got, want)
+		}
+		for of, form := range map[int]api.NodeKind{x.Pointer(id): api.NodeStar, x.Slice(id): api.NodeSliceOf, x.Map(1, id): api.NodeMapOf, x.Func([]int{id}, nil): api.NodeFuncOf} {
+			if got := x.Form(of); got != form {
+				t.Errorf("%s is of form %d, not %d", x.Show(of), got, form)
+			}
+		}
+	}
+	for id := range 3 {
+		if x.Form(id) != api.NodeName {
+			t.Errorf("%s is of form %d", x.Show(id), x.Form(id))
+		}
+	}
+	var none *types.Table
+	for _, id := range []int{-1, math.MinInt, math.MaxInt, 1 << 20} {
+		if x.Form(id) != api.NodeNone || none.Form(id) != api.NodeNone || none.Form(0) != api.NodeNone {
+			t.Errorf("P7: type %d has a form", id)
+		}
 	}
 }
