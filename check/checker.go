@@ -96,9 +96,10 @@ func (h *sheet) kids(n int) []int { return tree.Kids(h.tree, n) }
 
 func (h *sheet) first(n int) int { return h.tree.Nodes[n].First }
 
-// end is the number of the token behind a node's, behind that of the node behind it and all within it.
+// end is the number of the token behind a node's tokens.
 func (h *sheet) end(n int) int { return h.tree.Nodes[n].End }
 
+// behind is the number of the node behind a node and all within it.
 func (h *sheet) behind(n int) int { return n + h.tree.Nodes[n].Size }
 
 func (h *sheet) at(n int) api.Place { return api.Place{File: h.number, Token: h.first(n)} }

@@ -305,6 +305,7 @@ func TestLarge(t *testing.T) {
 		"faces":      "type I interface{" + numbered(3000, func(i int) string { return fmt.Sprintf("m%d();", i) }) + "};func _(i,j I){" + many("i=j;", 3000) + "i.m1()};",
 		"wide types": "type I interface{" + numbered(2000, func(i int) string { return fmt.Sprintf("m%d();", i) }) + "};func _(i I,s S,t T){" + many("i=s;_=i.(S);", 3000) + "};type S struct{T};type T int;" + numbered(2000, func(i int) string { return fmt.Sprintf("func(T)m%d(){};", i) }),
 		"readings":   "const(c0=1" + many("+(1", 100) + many(")", 100) + many("*(2+3)", 20) + ";" + numbered(12000, func(i int) string { return fmt.Sprintf("c%d;", i+1) }) + ");",
+		"counts":     "const(c,d=1" + many(",1", 20000) + ";" + numbered(5000, func(i int) string { return fmt.Sprintf("c%d;", i) }) + ");",
 		"cases":      "func _(i int){switch i{" + numbered(9000, func(i int) string { return fmt.Sprintf("case %d:", i) }) + "}};",
 		"elements":   "var _=[]int{" + many("1,", 30000) + "};",
 		"keys":       "var _=map[int]int{" + numbered(10000, func(i int) string { return fmt.Sprintf("%d:1,", i) }) + "};",
@@ -313,7 +314,11 @@ func TestLarge(t *testing.T) {
 		"matches":    "type I interface{};func _(i I){switch x:=i.(type){" + numbered(4000, func(i int) string { return fmt.Sprintf("case T%d:_=x;", i) }) + "}};" + numbered(4000, func(i int) string { return fmt.Sprintf("type T%d int;", i) }),
 	} {
 		text = "package main;" + text + "func main(){}"
-		if x, f := opened(t, []api.File{{Name: "a", Text: text}}); f != (api.Fault{}) || x.Checks == nil {
+		want := api.Fault{}
+		if what == "counts" {
+			want = api.Fault{Why: api.ErrCount, At: strings.Index(text, "c,d")}
+		}
+		if _, f := opened(t, []api.File{{Name: "a", Text: text}}); f != want {
 			t.Errorf("many %s: %v", what, f)
 		}
 	}

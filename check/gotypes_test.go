@@ -1,6 +1,7 @@
 package check_test
 
 import (
+	"cmp"
 	"go/ast"
 	"go/constant"
 	"go/parser"
@@ -22,7 +23,7 @@ type goRead struct {
 	set   *token.FileSet
 	files []*ast.File
 	info  *gotypes.Info
-	err   error
+	errs  []gotypes.Error
 }
 
 func goOf(t *testing.T, given []api.File) *goRead {
@@ -34,11 +35,7 @@ func goOf(t *testing.T, given []api.File) *goRead {
 		}
 		g.files = append(g.files, a)
 	}
-	c := gotypes.Config{Error: func(err error) {
-		if g.err == nil {
-			g.err = err
-		}
-	}}
+	c := gotypes.Config{Error: func(err error) { g.errs = append(g.errs, err.(gotypes.Error)) }}
 	c.Check("main", g.set, g.files, g.info)
 	return g
 }
@@ -223,12 +220,12 @@ func TestGo(t *testing.T) {
 		}
 		c, f := check.Check(p, s, x)
 		g := goOf(t, given)
-		if (f.Why == api.OK) != (g.err == nil) {
+		if (f.Why == api.OK) != (len(g.errs) == 0) {
 			told := ""
 			if f.Why != api.OK {
 				told = given[f.File].Text[max(0, f.At-150):]
 			}
-			t.Fatalf("program %d: %v at %.300s\nin Go: %v", count, f, told, g.err)
+			t.Fatalf("program %d: %v at %.300s\nin Go: %v", count, f, told, g.errs)
 		}
 		whys[f.Why]++
 		if f.Why == api.OK {
@@ -238,5 +235,51 @@ func TestGo(t *testing.T) {
 	}
 	if right < 200 || len(whys) < 9 {
 		t.Errorf("only %d without faults, and %v", right, whys)
+	}
+}
+
+// first is the first place of a program that Go refuses by its rules of types: not by what is unused, or needs itself.
+func (g *goRead) first() (span, int) {
+	var out []token.Position
+	for _, e := range g.errs {
+		isOther := slices.ContainsFunc([]string{"declared and not used", "missing return", "cycle", "\trefers to", "\tother declaration"}, func(s string) bool { return strings.Contains(e.Msg, s) })
+		if !isOther && !strings.HasPrefix(e.Msg, "\t") {
+			out = append(out, g.set.Position(e.Pos))
+		}
+	}
+	if len(out) == 0 {
+		return span{file: -1}, 0
+	}
+	p := slices.MinFunc(out, func(a, b token.Position) int {
+		return cmp.Or(cmp.Compare(a.Filename, b.Filename), cmp.Compare(a.Offset, b.Offset))
+	})
+	file := slices.IndexFunc(g.files, func(f *ast.File) bool { return g.set.Position(f.Pos()).Filename == p.Filename })
+	return span{file: file, from: p.Offset}, p.Line
+}
+
+// TestGoPlaces: the first fault stands in the line in which Go's first one does, and where both tell it at the same thing at the same byte (12.1).
+func TestGoPlaces(t *testing.T) {
+	r := chance(77)
+	same, other := 0, 0
+	for range 1200 {
+		given := someFiles(r, pick(r, 100, 40, 20))
+		_, f := opened(t, given)
+		if f.Why == api.OK || f.Why == api.ErrCycle || f.Why == api.ErrUnused || f.Why == api.ErrReturn {
+			continue
+		}
+		at, line := goOf(t, given).first()
+		text := given[f.File].Text
+		if at.file != f.File || line != 1+strings.Count(text[:f.At], "\n") {
+			other++ // Go knows the types of some expressions that have a fault within
+			continue
+		}
+		same++
+		isSame := slices.Contains([]api.Errno{api.ErrPlace, api.ErrAssign, api.ErrAssert, api.ErrTwice, api.ErrConvert}, f.Why)
+		if isSame && at.from != f.At {
+			t.Fatalf("12.1: %v at %.40q, in Go at %.40q", f, text[f.At:], text[at.from:])
+		}
+	}
+	if same < 300 || other*100 > same {
+		t.Errorf("12.1: %d in the line of Go's, %d not", same, other)
 	}
 }

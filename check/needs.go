@@ -37,10 +37,13 @@ func (c *checker) webOf(pack int, isOne func(decl int) bool, needs func(decl int
 // exprs are the expressions on which it hangs what a constant or variable is.
 func (o *owner) exprs() []int {
 	var all []int
-	if o.of != nil {
+	switch {
+	case o.on != nil && len(o.on.exprs) != len(o.on.names):
+		return o.on.exprs
+	case o.on != nil:
+		all = o.on.exprs
+	case o.of.source != nil:
 		all = o.of.exprs
-	} else if all = o.on.exprs; len(all) != len(o.on.names) {
-		return all
 	}
 	if o.number >= len(all) {
 		return nil

@@ -5,14 +5,22 @@ import (
 	"moniker/scope"
 )
 
-// constSpec is a ConstSpec, with the expressions and the type that it has or takes from one ahead.
+// source is what a ConstSpec with expressions has, which later ones take over.
+type source struct {
+	exprs   []int
+	id      int    // the written type; noType: none
+	count   int64  // its iota
+	hasIota []bool // by an expression: it is another one where it is read anew
+	isRead  bool
+	err     error // why nothing can be asked of all expressions together
+}
+
+// constSpec is a ConstSpec, with what it has or takes over; nil: there is nothing.
 type constSpec struct {
-	names, exprs []int
-	id           int    // the written type; noType: none
-	count        int64  // its iota
-	isOwn        bool   // the expressions are its own
-	counts       []bool // by an expression: iota stands in it, so that it is another one where it is read anew
-	from         int64  // the iota of the spec whose expressions they are
+	*source
+	names []int
+	count int64 // its iota
+	isOwn bool
 }
 
 // varSpec is a VarSpec.
@@ -69,20 +77,19 @@ func (r reader) specs(n int) {
 
 func (r reader) constSpecs(group int) []*constSpec {
 	var out []*constSpec
-	last := constSpec{id: noType}
+	var last *source
 	for i, n := range r.kids(group) {
 		kids := r.kids(n)
-		x := last
-		x.names, x.count, x.isOwn = r.kids(kids[0]), int64(i), false
+		x := &constSpec{names: r.kids(kids[0]), count: int64(i)}
 		if exprs := r.kids(kids[2]); len(exprs) > 0 {
-			x.exprs, x.id, x.isOwn, x.from = exprs, r.t.Written(r.number, kids[1]), true, int64(i)
-			x.counts = nil
+			x.isOwn = true
+			last = &source{exprs: exprs, id: r.t.Written(r.number, kids[1]), count: x.count}
 			for _, e := range exprs {
-				x.counts = append(x.counts, r.hasIota(e))
+				last.hasIota = append(last.hasIota, r.hasIota(e))
 			}
 		}
-		out = append(out, &x)
-		last = x
+		x.source = last
+		out = append(out, x)
 	}
 	return out
 }
@@ -105,41 +112,50 @@ func (r reader) once(n int) operand {
 
 // constSpec looks at a ConstSpec.
 func (r reader) constSpec(x *constSpec) {
-	if len(x.exprs) == 0 {
+	if x.source == nil {
 		r.settle(r.refuse(api.ErrConst, x.names[0]))
 		return
 	}
-	r.count = x.from
-	var all []operand
-	for _, e := range x.exprs {
-		all = append(all, r.once(e))
-	}
+	r.read(x.source)
 	if len(x.exprs) == len(x.names) {
 		for i := range x.names {
 			r.constant(x, i)
 		}
-	} else if settled(all...) == nil {
+	} else if x.err == nil {
 		r.settle(r.refuse(api.ErrCount, x.names[0]))
 	}
 }
 
-// constant finds what a Name of a ConstSpec is.
-func (r reader) constant(x *constSpec, number int) {
-	if len(x.exprs) != len(x.names) {
+// read looks at the expressions of a ConstSpec, as they are where they are written.
+func (r reader) read(x *source) {
+	if x.isRead {
 		return
 	}
-	e, name := x.exprs[number], x.names[number]
-	r.count = x.from
+	x.isRead = true
+	r.count = x.count
+	var all []operand
+	for _, e := range x.exprs {
+		all = append(all, r.once(e))
+	}
+	x.err = settled(all...)
+}
+
+// constant finds what a Name of a ConstSpec is.
+func (r reader) constant(x *constSpec, number int) {
+	if x.source == nil || len(x.exprs) != len(x.names) {
+		return
+	}
+	e := x.exprs[number]
+	r.count = x.source.count
 	val := r.once(e)
 	if err := r.isConstant(e, val, x.id); err != nil {
 		r.gaveUp(err)
 		return
 	}
-	if !x.isOwn && x.counts[number] {
-		r.count, r.again = x.count, true
-		val = r.expr(e)
-		r.again = false
-		if val.mode != isValue {
+	if !x.isOwn && x.hasIota[number] {
+		anew := r
+		anew.count, anew.again = x.count, true
+		if val = anew.expr(e); val.mode != isValue {
 			r.settle(r.refuse(api.ErrConst, x.names[0]))
 			return
 		}
@@ -147,7 +163,7 @@ func (r reader) constant(x *constSpec, number int) {
 	if x.id >= 0 {
 		val.id = x.id
 	}
-	r.make(name, val)
+	r.make(x.names[number], val)
 }
 
 func (r reader) hasIota(node int) bool {
