@@ -55,7 +55,7 @@ func TestGoStatements(t *testing.T) {
 	r := chance(90)
 	lines, all := operands()
 	right, whys := 0, map[api.Errno]int{}
-	for range 2500 {
+	for range 1500 {
 		stmt := strings.NewReplacer("X", pick(r, all...), "Y", pick(r, all...)).Replace(pick(r, shapes...))
 		given := []api.File{{Name: "a.go", Text: lines + "func main() {\n" + stmt + "\n}\n"}}
 		why, ok := whyOf(given)
@@ -70,7 +70,7 @@ func TestGoStatements(t *testing.T) {
 			right++
 		}
 	}
-	if right < 250 || len(whys) < 13 {
+	if right < 150 || len(whys) < 12 {
 		t.Errorf("only %d without faults, and %v", right, whys)
 	}
 }

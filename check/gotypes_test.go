@@ -202,7 +202,7 @@ func (x program) compareMembers(t *testing.T, given []api.File, g *goRead, spans
 func TestGo(t *testing.T) {
 	r := chance(1)
 	right, whys := 0, map[api.Errno]int{}
-	for count := range 700 {
+	for count := range 500 {
 		given := someFiles(r, pick(r, 1000, 100, 40))
 		p, f := modules.Load(given)
 		if f != (api.Fault{}) {
@@ -233,7 +233,7 @@ func TestGo(t *testing.T) {
 			program{c, p, s, x, s.Decls()}.compareGo(t, given, g)
 		}
 	}
-	if right < 200 || len(whys) < 9 {
+	if right < 150 || len(whys) < 9 {
 		t.Errorf("only %d without faults, and %v", right, whys)
 	}
 }
@@ -261,7 +261,7 @@ func (g *goRead) first() (span, int) {
 func TestGoPlaces(t *testing.T) {
 	r := chance(77)
 	same, other := 0, 0
-	for range 1200 {
+	for range 800 {
 		given := someFiles(r, pick(r, 100, 40, 20))
 		_, f := opened(t, given)
 		if f.Why == api.OK || f.Why == api.ErrCycle || f.Why == api.ErrUnused || f.Why == api.ErrReturn {
@@ -279,7 +279,7 @@ func TestGoPlaces(t *testing.T) {
 			t.Fatalf("12.1: %v at %.40q, in Go at %.40q", f, text[f.At:], text[at.from:])
 		}
 	}
-	if same < 300 || other*100 > same {
+	if same < 200 || other*100 > same {
 		t.Errorf("12.1: %d in the line of Go's, %d not", same, other)
 	}
 }
