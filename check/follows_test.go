@@ -323,3 +323,34 @@ func TestLarge(t *testing.T) {
 		}
 	}
 }
+
+// TestManyPackages: as many files as may be, each a package that imports all ahead of it.
+func TestManyPackages(t *testing.T) {
+	var given []api.File
+	for i := range api.MaxFiles {
+		text := fmt.Sprintf("package p%d\n", i)
+		if i == api.MaxFiles-1 {
+			text = "package main\n"
+		}
+		for k := range i {
+			text += fmt.Sprintf("import \"p%d\"\n", k)
+		}
+		text += "var V = 1"
+		for k := range i {
+			text += fmt.Sprintf(" + p%d.V", k)
+		}
+		text += strings.Repeat("\nfunc _(a int) int { for { a++ } }", 10)
+		if i == api.MaxFiles-1 {
+			text += "\nfunc main() { }"
+		}
+		given = append(given, api.File{Name: fmt.Sprintf("p%d/f", i), Text: text})
+	}
+	x := checked(t, given)
+	if got := len(x.Start()); got != api.MaxFiles {
+		t.Errorf("12.9: %d variables", got)
+	}
+	slices.Reverse(given)
+	if got := len(checked(t, given).Start()); got != api.MaxFiles {
+		t.Errorf("12.9: %d variables", got)
+	}
+}
