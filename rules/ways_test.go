@@ -21,10 +21,11 @@ var ways = map[string][]string{
 	"types":   {"map keyed by a struct", "map of slices", "labelled break", "Sort", "SortFunc"},
 	"flow":    {"type switch", "labelled break", "labelled continue"},
 	"check":   {"error of its own", "As", "map keyed by a struct", "map of functions"},
+	"xref":    {"interface", "SortFunc", "BinarySearchFunc", "type parameter"},
 }
 
 // words show a way by themselves.
-var words = []string{"append", "rune", "panic", "recover", "yield", "Sort", "SortFunc", "Sorted", "big", "As"}
+var words = []string{"append", "rune", "panic", "recover", "yield", "Sort", "SortFunc", "Sorted", "big", "As", "BinarySearchFunc"}
 
 func TestWays(t *testing.T) {
 	found, structs := map[string][]string{}, map[string][]string{}
@@ -98,6 +99,7 @@ func waysOf(file *ast.File, structs []string) []string {
 			out = append(out, wayOfKeys(x, structs)...)
 		case *ast.TypeSpec:
 			out = append(out, wayOfType(x)...)
+			out = append(out, wayOfInterface(x)...)
 		case *ast.StructType:
 			out = append(out, wayOfStruct(x)...)
 		case *ast.AssignStmt:
@@ -172,6 +174,15 @@ func wayOfType(named *ast.TypeSpec) []string {
 		}
 	}
 	return nil
+}
+
+// wayOfInterface tells of interfaces with methods.
+func wayOfInterface(named *ast.TypeSpec) []string {
+	x, ok := named.Type.(*ast.InterfaceType)
+	if !ok || len(x.Methods.List) == 0 {
+		return nil
+	}
+	return []string{"interface"}
 }
 
 // wayOfStruct tells of fields without a name of their own.
