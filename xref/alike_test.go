@@ -200,12 +200,12 @@ func strewn(r *rand.Rand, w *xref.Whole) []api.File {
 	return rewritten(w, func(at api.Place, p api.Token, old string) string {
 		if p.Kind != api.TokBlanks && p.Kind != api.TokNote {
 			if r.IntN(4) == 0 {
-				return pick(r, "", " ", "/* a b */", "\t /**/ ") + old
+				return pick(r, "", " ", " /* a b */", "\t /**/ ") + old
 			}
 			return old
 		}
 		if !strings.Contains(old, "\n") {
-			return pick(r, " ", "\t", "/**/", " /* c */ ", "  ")
+			return pick(r, " ", "\t", " /**/", " /* c */ ", "  ")
 		}
 		return pick(r, "\n", " // d\n", "\n\n/* e */", " /*\n*/ ")
 	})
