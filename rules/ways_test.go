@@ -22,6 +22,7 @@ var ways = map[string][]string{
 	"flow":    {"type switch", "labelled break", "labelled continue"},
 	"check":   {"error of its own", "As", "map keyed by a struct", "map of functions"},
 	"xref":    {"interface", "SortFunc", "BinarySearchFunc", "type parameter"},
+	"eval":    {"interface", "type switch", "function literal", "panic", "recover", "defer"},
 }
 
 // words show a way by themselves.
