@@ -89,7 +89,7 @@ func TestGo(t *testing.T) {
 			continue
 		}
 		if x := eval.Run(w, enough); x.End != api.EndFuel {
-			fmt.Fprintf(&text, "func body%d() {\n%s}\n", len(runs), body)
+			fmt.Fprintf(&text, "func body%d() {\n%s%s}\n", len(runs), again, body)
 			bodies, runs = append(bodies, body), append(runs, x)
 		}
 	}

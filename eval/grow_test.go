@@ -32,7 +32,15 @@ func fill(s []int, n int) []int { for i := range s { s[i] = n + i }; return s }
 func poke(p *P, n int) { if p != nil { p.a = n } }
 func kindOf(e E) string { switch x := e.(type) { case nil: return "nil"; case int: return "int"; case string: return x; case N, bool: return "plain"; case J: return x.name(); case I: return "I"; case *Q: return x.b; case []int: if len(x) > 0 { return "many" }; return "none" }; return "other" }
 func counter(n int) func(int) int { return func(k int) int { n += k; return n } }
+var total = add(base, 2)
+var shared, spare = Q{d: &spare}, made(total, "s")
+var base = len("abc" + spare0)
+var spare0, _ = "de", counter(1)
+func init() { total++; spare.a++ }
 `
+
+// again is how package variables are set to what they begin with: in Go many bodies share them.
+const again = "total, base, spare0, shared, spare = 18, 5, \"de\", Q{d: &spare}, P{18, \"s\"}\n"
 
 // grower writes the statements of a function by chance.
 type grower struct {
@@ -547,7 +555,8 @@ func (g *grower) risk() {
 
 // someBody are the statements of a function by chance.
 func someBody(r *rand.Rand) string {
-	g := &grower{r: r, vars: map[string][]string{}}
+	g := &grower{r: r, vars: map[string][]string{"int": {"total", "base"}, "string": {"spare0"}, "Q": {"shared"}, "P": {"spare"}}}
+	g.put("print(total, base, spare.a, shared.d == &spare)")
 	g.stmts(14+r.IntN(14), 2)
 	for range 6 {
 		g.tell()

@@ -21,8 +21,8 @@ type model struct {
 	fuel  int
 	depth int
 	trace [][]api.Val
-	world map[int]*box // package variables
-	funcs map[int]int  // nodes of Funcs, by declaration
+	world names       // package variables
+	funcs map[int]int // nodes of Funcs, by declaration
 }
 
 type (
@@ -56,24 +56,63 @@ type (
 
 // modelRun is what Run should answer.
 func modelRun(w *xref.Whole, fuel int) (out api.Run) {
-	m := &model{w: w, tree: w.Program().Tree(0), l: w.Program().Tokens(0), decls: w.Scopes().Decls(), fuel: fuel, world: map[int]*box{}, funcs: map[int]int{}}
+	m := &model{w: w, tree: w.Program().Tree(0), l: w.Program().Tokens(0), decls: w.Scopes().Decls(), fuel: fuel, world: names{}, funcs: map[int]int{}}
 	defer func() {
 		if s, ok := recover().(stop); ok {
 			out = api.Run{End: s.end, At: s.at, Left: m.fuel, Trace: m.trace}
 		}
 	}()
-	main := 0
+	var calls []int // the functions init, and main behind them
+	specs := map[api.Place][2][]int{}
 	for _, n := range m.kids(m.kid(0, 2)) {
-		if m.kind(n) == api.NodeFunc {
+		switch m.kind(n) {
+		case api.NodeFunc:
 			d := w.Scopes().Makes(m.at(m.kid(n, 1)))
 			m.funcs[d] = n
-			if m.decls[d].Name == "main" && m.decls[d].Kind == api.DeclFunc {
-				main = n
+			switch name := w.Program().Word(m.at(m.kid(n, 1))); {
+			case name == "main":
+				calls = append(calls, n)
+			case name == "init":
+				calls = slices.Insert(calls, max(0, len(calls)-1), n)
+			}
+		case api.NodeVar:
+			for _, spec := range m.kids(n) {
+				m.declare(m.kids(m.kid(spec, 0)), m.kids(m.kid(spec, 2)), specs)
 			}
 		}
 	}
-	m.body(main, names{}, nil)
+	for _, at := range w.Checks().Start() {
+		if u := specs[at]; len(u[1]) > 0 {
+			m.spec(u[0], u[1], m.world)
+		}
+	}
+	for _, n := range calls {
+		m.body(n, names{}, nil)
+	}
 	return api.Run{Left: m.fuel, Trace: m.trace}
+}
+
+// declare notes package variables, and the units of which they are made.
+func (m *model) declare(left, right []int, specs map[api.Place][2][]int) {
+	for i, n := range left {
+		if m.id(n) >= 0 {
+			m.define(n, m.zero(m.id(n)), m.world)
+		}
+		if len(right) == len(left) {
+			specs[m.at(n)] = [2][]int{{n}, {right[i]}}
+		}
+	}
+	if len(right) != len(left) {
+		specs[m.at(left[0])] = [2][]int{left, right}
+	}
+}
+
+// cell is the cell of a variable.
+func (m *model) cell(d int, env names) *box {
+	if b, ok := m.world[d]; ok {
+		return b
+	}
+	return env[d]
 }
 
 func (m *model) kind(n int) api.NodeKind { return m.tree.Nodes[n].Kind }
@@ -332,7 +371,7 @@ func (m *model) find(n int, env names) *box {
 		at := m.at(kids[1])
 		return m.walk(m.base(kids[0], env), append(m.w.Checks().Way(at), m.w.Checks().Members(at)[0]), n)
 	}
-	return env[m.bound(n)]
+	return m.cell(m.bound(n), env)
 }
 
 // base is x of a Select, in a cell.
@@ -901,7 +940,7 @@ func (m *model) spec(left, right []int, env names) {
 			v = m.zero(m.id(n))
 		}
 		if d := m.bound(n); d >= 0 && m.w.Scopes().Makes(m.at(n)) < 0 {
-			env[d].assign(v)
+			m.cell(d, env).assign(v)
 		}
 		m.define(n, v, env)
 	}
