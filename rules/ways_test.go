@@ -23,10 +23,12 @@ var ways = map[string][]string{
 	"check":   {"error of its own", "As", "map keyed by a struct", "map of functions"},
 	"xref":    {"interface", "SortFunc", "BinarySearchFunc", "type parameter"},
 	"eval":    {"interface", "type switch", "function literal", "panic", "recover", "defer"},
+	"ties":    {"map keyed by an array", "delete"},
+	"plan":    {"SortFunc", "map keyed by a place", "third index"},
 }
 
 // words show a way by themselves.
-var words = []string{"append", "rune", "panic", "recover", "yield", "Sort", "SortFunc", "Sorted", "big", "As", "BinarySearchFunc"}
+var words = []string{"append", "rune", "panic", "recover", "yield", "Sort", "SortFunc", "Sorted", "big", "As", "BinarySearchFunc", "delete"}
 
 func TestWays(t *testing.T) {
 	found, structs := map[string][]string{}, map[string][]string{}
@@ -85,6 +87,10 @@ func waysOf(file *ast.File, structs []string) []string {
 			}
 		case *ast.DeferStmt:
 			out = append(out, "defer")
+		case *ast.SliceExpr:
+			if x.Slice3 {
+				out = append(out, "third index")
+			}
 		case *ast.TypeSwitchStmt:
 			out = append(out, "type switch")
 		case *ast.FuncDecl:
@@ -154,6 +160,12 @@ func wayOfKeys(m *ast.MapType, structs []string) []string {
 	var out []string
 	if of, ok := m.Key.(*ast.Ident); ok && slices.Contains(structs, of.Name) {
 		out = append(out, "map keyed by a struct")
+	}
+	if of, ok := m.Key.(*ast.SelectorExpr); ok && of.Sel.Name == "Place" {
+		out = append(out, "map keyed by a place")
+	}
+	if of, ok := m.Key.(*ast.ArrayType); ok && of.Len != nil {
+		out = append(out, "map keyed by an array")
 	}
 	if list, ok := m.Value.(*ast.ArrayType); ok && list.Len == nil {
 		out = append(out, "map of slices")

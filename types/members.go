@@ -56,6 +56,17 @@ func (s *spec) named(name string) []int {
 	return out
 }
 
+// all are a type's members of whatever name, in any order.
+func (s *spec) all() []int {
+	var out []int
+	for _, h := range s.holders() {
+		for _, list := range h.own {
+			out = append(out, list...)
+		}
+	}
+	return out
+}
+
 // members are for each name the first of a type's members.
 func (s *spec) members() map[string]int {
 	out := map[string]int{}
@@ -100,6 +111,22 @@ func (t *Table) Met(id int, name string) []int {
 	for level := range depths(s) {
 		for _, x := range level {
 			out = append(out, x.spec.named(name)...)
+		}
+	}
+	slices.Sort(out) // two interface types may embed one and the same
+	return slices.Compact(out)
+}
+
+// Members are all that can be met from a declared type, whatever their names: of a struct type as Met tells them, of an interface type its own methods and those of all that it embeds, of every other its methods; by number.
+func (t *Table) Members(id int) []int {
+	s := t.declared(id)
+	if s == nil {
+		return nil
+	}
+	var out []int
+	for level := range depths(s) {
+		for _, x := range level {
+			out = append(out, x.spec.all()...)
 		}
 	}
 	slices.Sort(out) // two interface types may embed one and the same

@@ -159,3 +159,29 @@ func TestEvery(t *testing.T) {
 		t.Errorf("P4: %s", got)
 	}
 }
+
+// TestMembers: all that can be met from a type, of whatever name.
+func TestMembers(t *testing.T) {
+	x := made(t, "type J interface { m(); K }; type I interface { J; m(); k() }; type K interface { m(); n() }; type S struct { I; *A; m int; _ string }; type A int; func (a A) m() { }; func (s *S) f() { }; type P *A; type R struct { *R; *Q }; type Q struct { *R; q int }; type E interface { }")
+	for _, c := range []struct{ of, want string }{
+		{"J", "J.m K.m K.n"}, {"I", "J.m I.m I.k K.m K.n"}, {"K", "K.m K.n"}, {"S", "J.m I.m I.k K.m K.n S.I S.A S.m A.m S.f"}, {"A", "A.m"}, {"P", ""}, {"R", "R.R R.Q Q.R Q.q"}, {"Q", "R.R R.Q Q.R Q.q"}, {"E", ""},
+	} {
+		id := x.named(c.of)
+		for range 2 {
+			l := x.Members(id)
+			if got := x.owners(l...); got != c.want {
+				t.Errorf("Members(%s) is %s, not %s", c.of, got, c.want)
+			}
+			for i := range l {
+				l[i] = 99
+			}
+		}
+		if len(x.Members(x.Pointer(id))) != 0 || len(x.Members(x.Slice(id))) != 0 {
+			t.Errorf("Members of *%s or []%s", c.of, c.of)
+		}
+	}
+	var none *types.Table
+	if len(x.Members(-1)) != 0 || len(x.Members(1)) != 0 || len(x.Members(1<<40)) != 0 || len(none.Members(3)) != 0 {
+		t.Error("P7: Members of no declared type")
+	}
+}

@@ -99,6 +99,12 @@ func compareType(t *testing.T, given []api.File, x *types.Table, w *told, text s
 		if got, want := x.Met(id, name), w.met(text, name); !slices.Equal(got, want) {
 			t.Fatalf("10.10: %q: Met(%s, %s) = %v, not %v", given, text, name, got, want)
 		}
+		got := slices.DeleteFunc(x.Members(id), func(d int) bool { return w.decls[d].Name != name })
+		want := slices.Concat(w.met(text, name), w.has(text, name)) // what is met from a struct type, its own once more
+		slices.Sort(want)
+		if want = slices.Compact(want); name != "" && !slices.Equal(got, want) {
+			t.Fatalf("%q: Members(%s), of them %s: %v, not %v", given, text, name, got, want)
+		}
 	}
 }
 
