@@ -25,6 +25,7 @@ var ways = map[string][]string{
 	"eval":    {"interface", "type switch", "function literal", "panic", "recover", "defer"},
 	"ties":    {"map keyed by an array", "delete"},
 	"plan":    {"SortFunc", "map keyed by a place", "third index"},
+	"rename":  {"list of method values", "error of its own", "As"},
 }
 
 // words show a way by themselves.
@@ -101,6 +102,8 @@ func waysOf(file *ast.File, structs []string) []string {
 			out = append(out, "function literal")
 		case *ast.FuncType:
 			out = append(out, wayOfParameters(x)...)
+		case *ast.CompositeLit:
+			out = append(out, wayOfList(x)...)
 		case *ast.MapType:
 			out = append(out, wayOfMap(x, file)...)
 			out = append(out, wayOfKeys(x, structs)...)
@@ -135,6 +138,23 @@ func waysOfVariable(v *ast.ValueSpec) []string {
 		}
 	}
 	return out
+}
+
+// wayOfList tells of lists of functions that are methods of something.
+func wayOfList(l *ast.CompositeLit) []string {
+	list, ok := l.Type.(*ast.ArrayType)
+	if !ok || len(l.Elts) == 0 {
+		return nil
+	}
+	if _, ok := list.Elt.(*ast.FuncType); !ok {
+		return nil
+	}
+	for _, e := range l.Elts {
+		if _, ok := e.(*ast.SelectorExpr); !ok {
+			return nil
+		}
+	}
+	return []string{"list of method values"}
 }
 
 // wayOfMap tells of functions that are looked up, of a type that is written or named in the same file.

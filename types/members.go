@@ -158,6 +158,16 @@ func (t *Table) Methods(id int) []int {
 	return out
 }
 
+// Method is the method of a name in a type's method set; -1: there is none.
+func (t *Table) Method(id int, name string) int {
+	if s, pointed := t.holder(id); s != nil {
+		if f := look(s, name); t.isInSet(f, pointed) {
+			return f.decl
+		}
+	}
+	return -1
+}
+
 // isInSet tells whether what was found in a type is a method of it, or of the * of it.
 func (t *Table) isInSet(f find, pointed bool) bool {
 	if !f.isOne() {

@@ -185,3 +185,33 @@ func TestMembers(t *testing.T) {
 		t.Error("P7: Members of no declared type")
 	}
 }
+
+// TestMethod: the method of a name, of all types that are declared and the * of each: what the method set has of it.
+func TestMethod(t *testing.T) {
+	x := made(t, "type J interface { m(); K }; type I interface { J; m(); k() }; type K interface { m(); n() }; type S struct { I; *A; a int }; type A int; func (a A) o() { }; func (a *A) p() { }; func (s *S) f() { }; type T struct { S; k, B int }; type B struct { A }; type P *A; type E interface { }; type D struct { A; B }; type V struct { B; *S }")
+	count := 0
+	for _, of := range []string{"J", "I", "K", "S", "A", "T", "B", "P", "E", "D", "V"} {
+		for _, id := range []int{x.named(of), x.Pointer(x.named(of)), x.Pointer(x.Pointer(x.named(of))), x.Slice(x.named(of))} {
+			set := x.Methods(id)
+			for _, name := range []string{"a", "f", "k", "m", "n", "o", "p", "A", "B", "S", "zz", "", "_"} {
+				want := -1
+				for _, d := range set {
+					if x.decls[d].Name == name {
+						want = d
+						count++
+					}
+				}
+				if got := x.Method(id, name); got != want {
+					t.Errorf("Method(%s, %s) is %d, not %d", x.Show(id), name, got, want)
+				}
+			}
+		}
+	}
+	if count < 40 {
+		t.Errorf("only %d methods", count)
+	}
+	var none *types.Table
+	if x.Method(-1, "m") != -1 || x.Method(1, "m") != -1 || x.Method(1<<40, "m") != -1 || none.Method(3, "m") != -1 {
+		t.Error("P7: Method of no declared type")
+	}
+}
