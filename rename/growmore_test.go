@@ -42,6 +42,9 @@ func someFaces(r *rand.Rand) []api.File {
 			types = append(types, t)
 			lines = append(lines, "type "+t+map[bool]string{true: " interface { ", false: " struct { "}[t[0] == 'I']+strings.Join(slices.Compact(parts), "; ")+" }")
 		}
+		for n := range r.IntN(4) {
+			lines = append(lines, aside(r, n, types, names))
+		}
 		lines = append(lines, called(types, own))
 		r.Shuffle(len(lines), func(i, j int) { lines[i], lines[j] = lines[j], lines[i] })
 		out := []api.File{{Name: "a", Text: "package main\n" + strings.Join(lines, "\n") + "\n"}}
@@ -49,6 +52,28 @@ func someFaces(r *rand.Rand) []api.File {
 			return out
 		}
 	}
+}
+
+// aside is a type without a name, or a function with types of its own or with uses of others: it may have a fault.
+func aside(r *rand.Rand, n int, types, names []string) string {
+	e, f := pick(r, types...), pick(r, types...)
+	a, b := pick(r, names...), pick(r, names...)
+	star := func(t string) string { return map[bool]string{true: "*"}[t[0] == 'S' && r.IntN(2) == 0] + t }
+	switch r.IntN(7) {
+	case 0:
+		return fmt.Sprintf("type _ struct { %s; %s int }", star(e), a)
+	case 1:
+		return fmt.Sprintf("type _ struct { %s; %s; %s, %s int }", star(e), star(f), a, b)
+	case 2:
+		return fmt.Sprintf("type _ interface { %s; %s; %s() }", e, f, a)
+	case 3:
+		return fmt.Sprintf("func f%d() { type %s struct { %s; %s int }; type T struct { %s; %s; %s int }; _ = T{}.%s }", n, e, star(f), a, e, star(f), b, a)
+	case 4:
+		return fmt.Sprintf("func f%d() { type Y interface { %s; %s() }; type X interface { Y; %s() }; var x X; x.%s(); x.%s() }", n, e, a, b, a, b)
+	case 5:
+		return fmt.Sprintf("func f%d(x %s) { x.%s(); _ = x.%s }", n, star(e), a, b)
+	}
+	return fmt.Sprintf("func f%d(x %s) { _ = %s{%s: 1, %s: x}.%s }", n, star(e), f, a, e, b)
 }
 
 // called is a func main that puts each struct type into an interface value, asks which of the interface types it satisfies, and calls what it has of these.

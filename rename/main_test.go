@@ -8,6 +8,6 @@ import (
 
 // TestMain lets the heap grow: programs are read so often that most of the time would go into small collections.
 func TestMain(m *testing.M) {
-	debug.SetGCPercent(800)
+	debug.SetGCPercent(400)
 	os.Exit(m.Run())
 }

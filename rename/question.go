@@ -44,10 +44,7 @@ func (q *question) takeByte() error {
 }
 
 func (q *question) takeName() error {
-	switch {
-	case !lexer.Identifier(q.name) || len(q.name) > api.MaxName:
-		return refuse(api.ErrNewName, q.here())
-	case q.name == "_" || q.name == "main" || q.name == "init":
+	if len(q.name) > api.MaxName || !lexer.Identifier(q.name) || q.name == "_" || q.name == "main" || q.name == "init" {
 		return refuse(api.ErrNewName, q.here())
 	}
 	return nil
