@@ -7,13 +7,13 @@ import (
 	"moniker/api"
 	"moniker/graphs"
 	"moniker/lexer"
-	"moniker/parser"
 	"moniker/tree"
 )
 
 // loader makes a program step by step; each step looks for the faults of one kind, and leaves what those behind it need.
 type loader struct {
 	given  []api.File
+	known  func(text string) *Source
 	files  []file
 	packs  []api.Pack
 	byPath map[string]int
@@ -41,24 +41,33 @@ func (l *loader) compareNames() api.Fault {
 	return api.Fault{}
 }
 
-// read scans and parses file by file, as the limit of pieces is one for all of them.
+// read looks for the faults of file by file, as the limit of pieces is one for all of them.
 func (l *loader) read() api.Fault {
 	pieces := 0
 	for i, given := range l.given {
-		f := file{name: strings.Clone(given.Name), text: strings.Clone(given.Text)}
-		var fault api.Fault
-		if f.tokens, fault = lexer.Scan(f.text); fault.Why != api.OK {
-			return api.Fault{Why: fault.Why, File: i, At: fault.At}
+		s := l.source(given.Text)
+		if s.uncut.Why != api.OK {
+			return api.Fault{Why: s.uncut.Why, File: i, At: s.uncut.At}
 		}
-		if pieces += len(f.tokens); pieces > api.MaxPieces {
+		if pieces += len(s.tokens); pieces > api.MaxPieces {
 			return api.Fault{Why: api.ErrMany, File: i}
 		}
-		if f.tree, fault = parser.Parse(f.text, f.tokens); fault.Why != api.OK {
-			return api.Fault{Why: fault.Why, File: i, At: fault.At}
+		if s.unparsed.Why != api.OK {
+			return api.Fault{Why: s.unparsed.Why, File: i, At: s.unparsed.At}
 		}
-		l.files = append(l.files, f)
+		l.files = append(l.files, file{name: strings.Clone(given.Name), Source: s})
 	}
 	return api.Fault{}
+}
+
+// source is what was read of a text. One that is known must be of that text: what is made of it is never a program of other files.
+func (l *loader) source(text string) *Source {
+	if l.known != nil {
+		if s := l.known(text); s != nil && s.text == text {
+			return s
+		}
+	}
+	return Read(text)
 }
 
 // gather puts the files together into packages, by their folders.

@@ -12,6 +12,7 @@ import (
 
 // question is a rename that is asked for, and what its steps have found out so far.
 type question struct {
+	open         func([]api.File) (*xref.Whole, api.Fault)
 	files        []api.File
 	file, offset int
 	name         string
@@ -26,7 +27,7 @@ type question struct {
 // settle does the steps one behind the other: the first refusal, or nil.
 func (q *question) settle() error {
 	for _, step := range []func() error{
-		q.takeByte, q.takeName, q.open, q.find, q.aim,
+		q.takeByte, q.takeName, q.read, q.find, q.aim,
 		q.renew, q.keepBindings, q.keepMeaning, q.keepClass,
 	} {
 		if err := step(); err != nil {
@@ -59,8 +60,8 @@ func (q *question) here() api.Place {
 	return api.Place{File: q.file, Token: n}
 }
 
-func (q *question) open() error {
-	w, f := xref.Open(q.files)
+func (q *question) read() error {
+	w, f := q.open(q.files)
 	if f.Why != api.OK {
 		return refuse(f.Why, seen(q.files, f))
 	}
@@ -96,7 +97,7 @@ func (q *question) renew() error {
 	places, _ := plan.Places(q.old, q.class)
 	q.edits, _ = plan.Edits(q.old, places, q.name)
 	files, _ := plan.Files(q.files, q.edits)
-	w, f := xref.Open(files)
+	w, f := q.open(files)
 	if f.Why != api.OK {
 		return refuse(api.ErrBroken, seen(files, f))
 	}

@@ -149,7 +149,7 @@ func TestVariables(t *testing.T) {
 					t.Errorf("%s: a variable without a value of its own", s.where(v))
 				}
 				for _, value := range v.Values {
-					if why := wrongTable(value); why != "" && !isCallOf(value, "errors", "New") && !isStartUp(s.folder, value) {
+					if why := wrongTable(value); why != "" && !isCallOf(value, "errors", "New") && !isStartUp(s.folder, value) && !isFilled(s.folder, value) {
 						t.Errorf("%s: %s", s.where(value), why)
 					}
 				}
@@ -190,6 +190,16 @@ func wrongTable(value ast.Expr) string {
 // isStartUp tells whether a value is made by a call at the start where the document asks for it: the bounds of constants.
 func isStartUp(folder string, value ast.Expr) bool {
 	return folder == "consts" && isCallOf(value, "big", "NewInt")
+}
+
+// isFilled tells whether a value is the empty table that func init fills where the document asks for it: the commands of the desk.
+func isFilled(folder string, value ast.Expr) bool {
+	table, ok := value.(*ast.CompositeLit)
+	if !ok || folder != "desk" || len(table.Elts) > 0 {
+		return false
+	}
+	_, ok = table.Type.(*ast.MapType)
+	return ok
 }
 
 // isCallOf tells whether a value is a call, with one argument, of a package's function.

@@ -26,10 +26,12 @@ var ways = map[string][]string{
 	"ties":    {"map keyed by an array", "delete"},
 	"plan":    {"SortFunc", "map keyed by a place", "third index"},
 	"rename":  {"list of method values", "error of its own", "As"},
+	"build":   {"goroutine", "channel", "WaitGroup", "Mutex", "atomic", "map field"},
+	"desk":    {"init", "generic type", "variadic", "function literal"},
 }
 
 // words show a way by themselves.
-var words = []string{"append", "rune", "panic", "recover", "yield", "Sort", "SortFunc", "Sorted", "big", "As", "BinarySearchFunc", "delete"}
+var words = []string{"append", "rune", "panic", "recover", "yield", "Sort", "SortFunc", "Sorted", "big", "As", "BinarySearchFunc", "delete", "WaitGroup", "Mutex", "atomic"}
 
 func TestWays(t *testing.T) {
 	found, structs := map[string][]string{}, map[string][]string{}
@@ -98,6 +100,15 @@ func waysOf(file *ast.File, structs []string) []string {
 			if x.Recv != nil && x.Name.Name == "Error" {
 				out = append(out, "error of its own")
 			}
+			if x.Recv == nil && x.Name.Name == "init" {
+				out = append(out, "init")
+			}
+		case *ast.GoStmt:
+			out = append(out, "goroutine")
+		case *ast.ChanType:
+			out = append(out, "channel")
+		case *ast.Ellipsis:
+			out = append(out, "variadic")
 		case *ast.FuncLit:
 			out = append(out, "function literal")
 		case *ast.FuncType:
@@ -193,8 +204,11 @@ func wayOfKeys(m *ast.MapType, structs []string) []string {
 	return out
 }
 
-// wayOfType tells of structs that point to others of their kind.
+// wayOfType tells of types with parameters, and of structs that point to others of their kind.
 func wayOfType(named *ast.TypeSpec) []string {
+	if named.TypeParams != nil {
+		return []string{"generic type"}
+	}
 	s, ok := named.Type.(*ast.StructType)
 	if !ok {
 		return nil
